@@ -73,7 +73,7 @@ func TestAsk(t *testing.T) {
 	if got := Kids(l, any, 0); !slices.Equal(got, []int{1, 2}) {
 		t.Error(got)
 	}
-	if got := Kids(l, any, -1); len(got) != 0 {
+	if got := Kids(l, any[:3], -1); len(got) != 0 {
 		t.Error(got)
 	}
 	for i, d := range [][]api.Choice{nil, c[:3], {c[0], c[1], c[2], choice("d", 3, "1", 1)}, {c[0], c[1], c[2], choice("d", 4, "1", 2)}, {c[0], c[1], c[2], choice("d", 3, "2", 2)}, {c[0], c[1], c[2], choice("e", 3, "1", 2)}} {
