@@ -27,6 +27,15 @@ func fail(e api.Errno, line int) {
 	panic(fault{e, line})
 }
 
+// caught gives the fault that a panic was.
+func caught(wrong any) fault {
+	f, ok := wrong.(fault)
+	if !ok {
+		panic(wrong)
+	}
+	return f
+}
+
 // behind gives the number of the line behind the last one.
 func behind(s string) int {
 	return strings.Count(s, "\n") + 2

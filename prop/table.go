@@ -35,21 +35,21 @@ func New(l []api.Prop) *Table {
 	return t
 }
 
-// caught turns a fault into an error and its name.
-func caught(wrong any, e *api.Errno, name *string) {
+// caught gives the fault that a panic was.
+func caught(wrong any) fault {
 	f, ok := wrong.(fault)
 	if !ok {
 		panic(wrong)
 	}
-	*e, *name = f.err, f.name
+	return f
 }
 
 // Expand gives s with the values of its references in their place.
 func (t *Table) Expand(s string) (text string, e api.Errno, name string) {
 	defer func() {
 		if wrong := recover(); wrong != nil {
-			text = ""
-			caught(wrong, &e, &name)
+			f := caught(wrong)
+			text, e, name = "", f.err, f.name
 		}
 	}()
 	return t.put(s, "", nil), api.OK, ""
@@ -59,8 +59,8 @@ func (t *Table) Expand(s string) (text string, e api.Errno, name string) {
 func (t *Table) All() (list []api.Prop, e api.Errno, name string) {
 	defer func() {
 		if wrong := recover(); wrong != nil {
-			list = nil
-			caught(wrong, &e, &name)
+			f := caught(wrong)
+			list, e, name = nil, f.err, f.name
 		}
 	}()
 	if t == nil {

@@ -12,9 +12,9 @@ func (s *solver) bump(v int) {
 		return
 	}
 	for u := range s.vars {
-		s.weight[u] /= tooHeavy
+		s.weight[u] >>= lighter
 	}
-	s.step /= tooHeavy
+	s.step = max(s.step>>lighter, firstStep)
 }
 
 // learn takes a clause from a conflict, goes back as far as it says, and takes what follows from it.
@@ -23,7 +23,7 @@ func (s *solver) learn(conflict *clause) {
 	for v := range s.vars {
 		s.seen[v] = false
 	}
-	s.step *= growth
+	s.step += s.step >> growth
 	proved := make([]int, 0, len(lits))
 	for _, lit := range lits {
 		proved = append(proved, outer(lit))

@@ -11,10 +11,12 @@ const (
 	restartUnit = 64
 )
 
-// How the weight of what conflicts grows, and when all weights are made smaller.
+// How the weight of what conflicts grows from conflict to conflict, by a part of itself, and when all weights are made smaller.
 const (
-	growth   = 1 / 0.95
-	tooHeavy = 1e100
+	firstStep = 1 << 10
+	growth    = 4
+	tooHeavy  = 1 << 58
+	lighter   = 40
 )
 
 // clause is a clause; its first two literals are watched. Glue tells of a learned one of how many levels its literals were.
@@ -37,8 +39,8 @@ type solver struct {
 	trail     []int
 	marks     []int // where on the trail each level begins
 	head      int   // how much of the trail was gone on from
-	weight    []float64
-	step      float64
+	weight    []int
+	step      int
 	phase     []int // of each variable: the literal that it was last
 	seen      []bool
 	learned   []*clause
@@ -51,7 +53,7 @@ func newSolver(vars, most int) *solver {
 	s := &solver{
 		vars: vars, most: most,
 		watch: make([][]*clause, vars<<1), value: make([]int, vars<<1),
-		level: make([]int, vars), reason: make([]*clause, vars), weight: make([]float64, vars), step: 1,
+		level: make([]int, vars), reason: make([]*clause, vars), weight: make([]int, vars), step: firstStep,
 		phase: make([]int, vars), seen: make([]bool, vars), kept: firstKept,
 	}
 	for v := range vars {
