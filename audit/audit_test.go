@@ -10,74 +10,15 @@ import (
 	"pomace/api"
 	"pomace/bounds"
 	"pomace/collect"
-	"pomace/coord"
 	"pomace/mediate"
 	"pomace/model"
 	"pomace/proof"
+	"pomace/sample"
 	"pomace/store"
 )
 
-func gav(s string) api.Gav {
-	g, _ := coord.ParseGav(s)
-	return g
-}
-
-// dep writes a dependency "g:a version scope", a - for what isn't said; more stands in it, too.
-func dep(s string, more ...string) string {
-	w := strings.Fields(s)
-	g, a, _ := strings.Cut(w[0], ":")
-	out := "<dependency><groupId>" + g + "</groupId><artifactId>" + a + "</artifactId>"
-	if len(w) > 1 && w[1] != "-" {
-		out += "<version>" + w[1] + "</version>"
-	}
-	if len(w) > 2 {
-		out += "<scope>" + w[2] + "</scope>"
-	}
-	return out + strings.Join(more, "") + "</dependency>"
-}
-
-const optional = "<optional>true</optional>"
-
-func excl(g, a string) string {
-	return "<exclusions><exclusion><groupId>" + g + "</groupId><artifactId>" + a + "</artifactId></exclusion></exclusions>"
-}
-
-func deps(l ...string) string { return "<dependencies>" + strings.Join(l, "") + "</dependencies>" }
-
-func managed(l ...string) string {
-	return "<dependencyManagement>" + deps(l...) + "</dependencyManagement>"
-}
-
-func filled(t *testing.T, l ...string) *store.Store {
-	s := store.New()
-	for i := 0; i < len(l); i += 2 {
-		g := gav(l[i])
-		text := "<project><groupId>" + g.Group + "</groupId><artifactId>" + g.Artifact + "</artifactId><version>" + g.Version + "</version>" + l[i+1] + "</project>"
-		if e := s.Put(g, text); e != api.OK {
-			t.Fatal(l[i], e)
-		}
-	}
-	return s
-}
-
-func example(t *testing.T) *store.Store {
-	return filled(t, "g:a:1", deps(dep("g:b 1"), dep("g:c 1")), "g:b:1", deps(dep("g:d [1]")), "g:c:1", deps(dep("g:d [2]")), "g:b:2", deps(dep("g:d [2]")), "g:d:1", "", "g:d:2", "")
-}
-
-func told(l []api.Item) string {
-	var out []string
-	for _, x := range l {
-		s := x.Key.Artifact + x.Version
-		if x.Key.Type != "jar" {
-			s += x.Key.Type
-		}
-		out = append(out, s)
-	}
-	return strings.Join(out, " ")
-}
-
 func chosen(t *testing.T, s *store.Store, root string) ([]api.Branch, []api.Choice) {
-	l, problem := collect.Tree(s, gav(root))
+	l, problem := collect.Tree(s, sample.Gav(root))
 	if problem != (api.Problem{}) {
 		t.Fatal(problem)
 	}
@@ -86,7 +27,7 @@ func chosen(t *testing.T, s *store.Store, root string) ([]api.Branch, []api.Choi
 
 // P18.1: which ranges are broken.
 func TestBreaches(t *testing.T) {
-	l, c := chosen(t, example(t), "g:a:1")
+	l, c := chosen(t, sample.Broken(), "g:a:1")
 	got := Breaches(l, c)
 	r, _ := bounds.Parse("[2]")
 	want := api.Breach{Key: api.Key{Group: "g", Artifact: "d", Type: "jar"}, Version: "1", Path: []int{1, 0}, Range: r}
@@ -108,7 +49,7 @@ func TestBreaches(t *testing.T) {
 		}
 	}
 	// what isn't live breaks nothing: e loses with all that it needs
-	s := filled(t, "g:a:1", deps(dep("g:d 1"), dep("g:b 1"), dep("g:e 1")), "g:b:1", deps(dep("g:c 1"), dep("g:e 2")), "g:c:1", "", "g:d:1", "", "g:d:2", "", "g:e:1", deps(dep("g:d (,2]")), "g:e:2", deps(dep("g:d [2]")))
+	s := sample.Store("g:a:1", sample.Deps(sample.Dep("g:d 1"), sample.Dep("g:b 1"), sample.Dep("g:e 1")), "g:b:1", sample.Deps(sample.Dep("g:c 1"), sample.Dep("g:e 2")), "g:c:1", "", "g:d:1", "", "g:d:2", "", "g:e:1", sample.Deps(sample.Dep("g:d (,2]")), "g:e:2", sample.Deps(sample.Dep("g:d [2]")))
 	if l, c := chosen(t, s, "g:a:1"); len(Breaches(l, c)) != 0 {
 		t.Error(Breaches(l, c))
 	}
@@ -121,21 +62,21 @@ func TestDeal(t *testing.T) {
 		l            []string
 	}{
 		{"a1 b1 b2 c1 d1 d2", "[[1 2] [3]] [[4]] [[5]] [[5]] [] []", nil},
-		{"a1 b1.0 b1 c2", "[[1 2] [3]] [] [] []", []string{"g:a:1", deps(dep("g:b [1]", optional), dep("g:c [2,3) test")), "g:b:1.0", deps(dep("g:x 1", optional), dep("g:x 1 test"), dep("g:x [1] provided"), dep("g:x 1 system")), "g:b:1", "", "g:b:2", "", "g:c:2", "", "g:c:3", "", "g:x:1", ""}},
-		{"a1 b1 x1", "[[1]] [[2]] []", []string{"g:a:1", deps(dep("g:b 1")), "g:b:1", deps(dep("g:x 9 runtime")), "g:x:1", ""}},
-		{"a1 b1 x2 y1", "[[1]] [[2] [3]] [] []", []string{"g:a:1", managed(dep("g:x [2] runtime"), dep("g:y -"), dep("g:z - test")) + deps(dep("g:b 1")), "g:b:1", deps(dep("g:x 9 test"), dep("g:y [1]"), dep("g:z 1")), "g:x:1", "", "g:x:2", "", "g:y:1", "", "g:y:2", "", "g:z:1", ""}},
-		{"a1 b1 c1", "[[1] [2]] [] []", []string{"g:a:1", deps(dep("g:b 1"), dep("g:c 1", excl("*", "x"))), "g:b:1", deps(dep("g:x 1")), "g:c:1", "", "g:x:1", ""}},
-		{"a1 b1 b2", "[[1 2] []] [[]] []", []string{"g:a:1", deps(dep("g:b 1"), dep("g:c 1")), "g:b:1", deps(dep("g:x -")), "g:b:2", ""}},
-		{"a1 b1", "[[1]] [[0]]", []string{"g:a:1", deps(dep("g:b 1")), "g:b:1", deps(dep("g:a (,)"))}},
-		{"a1 b1 b1war", "[[1] [2]] [] []", []string{"g:a:1", deps(dep("g:b 1"), dep("g:b 1", "<type>war</type>")), "g:b:1", ""}},
+		{"a1 b1.0 b1 c2", "[[1 2] [3]] [] [] []", []string{"g:a:1", sample.Deps(sample.Dep("g:b [1]", sample.Optional), sample.Dep("g:c [2,3) test")), "g:b:1.0", sample.Deps(sample.Dep("g:x 1", sample.Optional), sample.Dep("g:x 1 test"), sample.Dep("g:x [1] provided"), sample.Dep("g:x 1 system")), "g:b:1", "", "g:b:2", "", "g:c:2", "", "g:c:3", "", "g:x:1", ""}},
+		{"a1 b1 x1", "[[1]] [[2]] []", []string{"g:a:1", sample.Deps(sample.Dep("g:b 1")), "g:b:1", sample.Deps(sample.Dep("g:x 9 runtime")), "g:x:1", ""}},
+		{"a1 b1 x2 y1", "[[1]] [[2] [3]] [] []", []string{"g:a:1", sample.Managed(sample.Dep("g:x [2] runtime"), sample.Dep("g:y -"), sample.Dep("g:z - test")) + sample.Deps(sample.Dep("g:b 1")), "g:b:1", sample.Deps(sample.Dep("g:x 9 test"), sample.Dep("g:y [1]"), sample.Dep("g:z 1")), "g:x:1", "", "g:x:2", "", "g:y:1", "", "g:y:2", "", "g:z:1", ""}},
+		{"a1 b1 c1", "[[1] [2]] [] []", []string{"g:a:1", sample.Deps(sample.Dep("g:b 1"), sample.Dep("g:c 1", sample.Without("*:x"))), "g:b:1", sample.Deps(sample.Dep("g:x 1")), "g:c:1", "", "g:x:1", ""}},
+		{"a1 b1 b2", "[[1 2] []] [[]] []", []string{"g:a:1", sample.Deps(sample.Dep("g:b 1"), sample.Dep("g:c 1")), "g:b:1", sample.Deps(sample.Dep("g:x -")), "g:b:2", ""}},
+		{"a1 b1", "[[1]] [[0]]", []string{"g:a:1", sample.Deps(sample.Dep("g:b 1")), "g:b:1", sample.Deps(sample.Dep("g:a (,)"))}},
+		{"a1 b1 b1war", "[[1] [2]] [] []", []string{"g:a:1", sample.Deps(sample.Dep("g:b 1"), sample.Dep("g:b 1", "<type>war</type>")), "g:b:1", ""}},
 	} {
-		s := example(t)
+		s := sample.Broken()
 		if w.l != nil {
-			s = filled(t, w.l...)
+			s = sample.Store(w.l...)
 		}
-		d, problem := Deal(s, model.New(s), gav("g:a:1"))
-		if problem != (api.Problem{}) || told(d.Items) != w.items || d.Root != 0 || tellWants(d.Wants) != w.wants {
-			t.Error(i, told(d.Items), tellWants(d.Wants), problem)
+		d, problem := Deal(s, model.New(s), sample.Gav("g:a:1"))
+		if problem != (api.Problem{}) || sample.Tell(d.Items) != w.items || d.Root != 0 || tellWants(d.Wants) != w.wants {
+			t.Error(i, sample.Tell(d.Items), tellWants(d.Wants), problem)
 		}
 	}
 }
@@ -159,11 +100,11 @@ func tellWants(l [][][]int) string {
 
 // many makes a store in which a needs m versions of one artifact, by so many others.
 func many(t *testing.T, n int) *store.Store {
-	l := []string{"g:a:1", deps(dep("g:b 1"))}
+	l := []string{"g:a:1", sample.Deps(sample.Dep("g:b 1"))}
 	for i := range n {
 		l = append(l, "g:b:"+strconv.Itoa(i), "")
 	}
-	return filled(t, l...)
+	return sample.Store(l...)
 }
 
 // P18.3, P18.4: problems.
@@ -171,52 +112,52 @@ func TestProblems(t *testing.T) {
 	typed := func(n int) string {
 		var l []string
 		for i := range n {
-			l = append(l, dep("g:b 1", "<classifier>k"+strconv.Itoa(i)+"</classifier>"))
+			l = append(l, sample.Dep("g:b 1", "<classifier>k"+strconv.Itoa(i)+"</classifier>"))
 		}
-		return deps(l...)
+		return sample.Deps(l...)
 	}
-	big := filled(t, "g:a:1", typed(342), "g:b:1", "", "g:b:2", "", "g:b:3", "")
-	full := filled(t, "g:a:1", typed(341), "g:b:1", "", "g:b:2", "", "g:b:3", "")
+	big := sample.Store("g:a:1", typed(342), "g:b:1", "", "g:b:2", "", "g:b:3", "")
+	full := sample.Store("g:a:1", typed(341), "g:b:1", "", "g:b:2", "", "g:b:3", "")
 	for i, w := range []struct {
 		s    *store.Store
 		most int
 		want api.Problem
 	}{
-		{filled(t), 9, api.Problem{Err: api.ErrPom, Gav: gav("g:a:1")}},
-		{filled(t, "g:a:1", deps(dep("g:b -"))), 9, api.Problem{Err: api.ErrFree, Gav: gav("g:a:1"), Where: "dependency[1]/version"}},
-		{big, 9, api.Problem{Err: api.ErrBig, Gav: gav("g:a:1"), Where: "deal"}},
-		{many(t, 182), 9, api.Problem{Err: api.ErrBig, Gav: gav("g:a:1"), Where: "question"}},
-		{many(t, 182), -1, api.Problem{Err: api.ErrBig, Gav: gav("g:a:1"), Where: "question"}},
+		{sample.Store(), 9, api.Problem{Err: api.ErrPom, Gav: sample.Gav("g:a:1")}},
+		{sample.Store("g:a:1", sample.Deps(sample.Dep("g:b -"))), 9, api.Problem{Err: api.ErrFree, Gav: sample.Gav("g:a:1"), Where: "dependency[1]/version"}},
+		{big, 9, api.Problem{Err: api.ErrBig, Gav: sample.Gav("g:a:1"), Where: "deal"}},
+		{many(t, 182), 9, api.Problem{Err: api.ErrBig, Gav: sample.Gav("g:a:1"), Where: "question"}},
+		{many(t, 182), -1, api.Problem{Err: api.ErrBig, Gav: sample.Gav("g:a:1"), Where: "question"}},
 		{many(t, 180), 9, api.Problem{}}, {full, 9, api.Problem{}},
-		{example(t), -1, api.Problem{Err: api.ErrArg, Gav: gav("g:a:1"), Where: "most"}},
+		{sample.Broken(), -1, api.Problem{Err: api.ErrArg, Gav: sample.Gav("g:a:1"), Where: "most"}},
 	} {
-		f, problem := Seek(w.s, model.New(w.s), gav("g:a:1"), w.most)
+		f, problem := Seek(w.s, model.New(w.s), sample.Gav("g:a:1"), w.most)
 		if problem != w.want || problem.Err != api.OK && (f.End != 0 || len(f.Items)+len(f.Proof)+len(f.Question.Clauses) > 0) {
 			t.Error(i, problem)
 		}
-		d, problem := Deal(w.s, model.New(w.s), gav("g:a:1"))
+		d, problem := Deal(w.s, model.New(w.s), sample.Gav("g:a:1"))
 		if dealt := w.want.Err == api.OK || w.want.Where == "question" || w.want.Where == "most"; dealt != (problem == api.Problem{}) || !dealt && (problem != w.want || len(d.Items)+len(d.Wants) > 0) {
 			t.Error(i, problem)
 		}
 	}
-	if _, problem := Seek(nil, nil, gav("g:a:1"), 9); problem != (api.Problem{Err: api.ErrPom, Gav: gav("g:a:1")}) || Admits(nil, nil, gav("g:a:1"), nil) {
+	if _, problem := Seek(nil, nil, sample.Gav("g:a:1"), 9); problem != (api.Problem{Err: api.ErrPom, Gav: sample.Gav("g:a:1")}) || Admits(nil, nil, sample.Gav("g:a:1"), nil) {
 		t.Error(problem)
 	}
 }
 
 // P18.4: what is found, or shown not to be there.
 func TestSeek(t *testing.T) {
-	s := example(t)
-	f, problem := Seek(s, model.New(s), gav("g:a:1"), 1000)
-	if problem != (api.Problem{}) || f.End != api.Sat || told(f.Items) != "a1 b2 c1 d2" || len(f.Proof)+len(f.Question.Clauses) > 0 || f.Question.Vars != 0 {
+	s := sample.Broken()
+	f, problem := Seek(s, model.New(s), sample.Gav("g:a:1"), 1000)
+	if problem != (api.Problem{}) || f.End != api.Sat || sample.Tell(f.Items) != "a1 b2 c1 d2" || len(f.Proof)+len(f.Question.Clauses) > 0 || f.Question.Vars != 0 {
 		t.Error(f, problem)
 	}
-	s = filled(t, "g:a:1", deps(dep("g:b 1"), dep("g:c 1")), "g:b:1", deps(dep("g:d [1]")), "g:c:1", deps(dep("g:d [2]")), "g:d:1", "", "g:d:2", "")
-	f, problem = Seek(s, model.New(s), gav("g:a:1"), 1000)
+	s = sample.Store("g:a:1", sample.Deps(sample.Dep("g:b 1"), sample.Dep("g:c 1")), "g:b:1", sample.Deps(sample.Dep("g:d [1]")), "g:c:1", sample.Deps(sample.Dep("g:d [2]")), "g:d:1", "", "g:d:2", "")
+	f, problem = Seek(s, model.New(s), sample.Gav("g:a:1"), 1000)
 	if problem != (api.Problem{}) || f.End != api.Unsat || len(f.Items) > 0 || proof.Check(f.Question, f.Proof) >= 0 || f.Question.Vars != 5 {
 		t.Error(f, problem)
 	}
-	f, problem = Seek(s, model.New(s), gav("g:a:1"), 0)
+	f, problem = Seek(s, model.New(s), sample.Gav("g:a:1"), 0)
 	if problem != (api.Problem{}) || f.End != api.Open || len(f.Items)+len(f.Proof)+len(f.Question.Clauses) > 0 {
 		t.Error(f, problem)
 	}
@@ -224,7 +165,7 @@ func TestSeek(t *testing.T) {
 
 // P18.5: which choices break no range.
 func TestAdmits(t *testing.T) {
-	s := example(t)
+	s := sample.Broken()
 	b := model.New(s)
 	item := func(w string) api.Item {
 		return api.Item{Key: api.Key{Group: "g", Artifact: w[:1], Type: "jar"}, Version: w[1:]}
@@ -234,15 +175,15 @@ func TestAdmits(t *testing.T) {
 		for _, w := range strings.Fields(l) {
 			items = append(items, item(w))
 		}
-		if Admits(s, b, gav("g:a:1"), items) != want {
+		if Admits(s, b, sample.Gav("g:a:1"), items) != want {
 			t.Error(l)
 		}
 	}
-	if Admits(s, b, gav("g:z:1"), []api.Item{item("z1")}) {
+	if Admits(s, b, sample.Gav("g:z:1"), []api.Item{item("z1")}) {
 		t.Error("a problem")
 	}
-	s = filled(t, "g:a:1", deps(dep("g:b 1")), "g:b:1", deps(dep("g:c -")), "g:b:2", "")
-	if Admits(s, model.New(s), gav("g:a:1"), []api.Item{item("a1"), item("b1")}) || !Admits(s, model.New(s), gav("g:a:1"), []api.Item{item("a1"), item("b2")}) {
+	s = sample.Store("g:a:1", sample.Deps(sample.Dep("g:b 1")), "g:b:1", sample.Deps(sample.Dep("g:c -")), "g:b:2", "")
+	if Admits(s, model.New(s), sample.Gav("g:a:1"), []api.Item{item("a1"), item("b1")}) || !Admits(s, model.New(s), sample.Gav("g:a:1"), []api.Item{item("a1"), item("b2")}) {
 		t.Error("an item's problem")
 	}
 }
@@ -258,18 +199,18 @@ func someStore(t *testing.T, r *rand.Rand, plain bool) *store.Store {
 				more := ""
 				if !plain {
 					s += []string{"", " test", " runtime"}[r.Intn(3)]
-					more = []string{"", "", optional, excl("*", "d")}[r.Intn(4)]
+					more = []string{"", "", sample.Optional, sample.Without("*:d")}[r.Intn(4)]
 				}
-				ds = append(ds, dep(s, more))
+				ds = append(ds, sample.Dep(s, more))
 			}
-			in := deps(ds...)
+			in := sample.Deps(ds...)
 			if !plain && r.Intn(3) == 0 {
-				in = managed(dep("g:d [2]")) + in
+				in = sample.Managed(sample.Dep("g:d [2]")) + in
 			}
 			l = append(l, "g:"+a+":"+strconv.Itoa(v), in)
 		}
 	}
-	return filled(t, l...)
+	return sample.Store(l...)
 }
 
 func b2i(b bool) int {
@@ -300,12 +241,12 @@ func TestFollows(t *testing.T) {
 		if !slices.EqualFunc(got, paths, func(x api.Breach, p []int) bool { return slices.Equal(x.Path, p) }) {
 			t.Fatal(got, paths)
 		}
-		f, problem := Seek(s, b, gav("g:a:1"), 1<<30)
+		f, problem := Seek(s, b, sample.Gav("g:a:1"), 1<<30)
 		if problem != (api.Problem{}) {
 			t.Fatal(problem)
 		}
 		ends[f.End]++
-		d, _ := Deal(s, b, gav("g:a:1"))
+		d, _ := Deal(s, b, sample.Gav("g:a:1"))
 		any := false
 		for bits := range 1 << len(d.Items) {
 			var items []api.Item
@@ -314,12 +255,12 @@ func TestFollows(t *testing.T) {
 					items = append(items, x)
 				}
 			}
-			if bits&1 == 1 && Admits(s, b, gav("g:a:1"), items) {
+			if bits&1 == 1 && Admits(s, b, sample.Gav("g:a:1"), items) {
 				any = true
 				break
 			}
 		}
-		if any != (f.End == api.Sat) || any && !Admits(s, b, gav("g:a:1"), f.Items) || !any && proof.Check(f.Question, f.Proof) >= 0 {
+		if any != (f.End == api.Sat) || any && !Admits(s, b, sample.Gav("g:a:1"), f.Items) || !any && proof.Check(f.Question, f.Proof) >= 0 {
 			t.Fatal(f)
 		}
 		if plain && len(got) == 0 {
@@ -328,8 +269,8 @@ func TestFollows(t *testing.T) {
 			for _, x := range c {
 				items = append(items, api.Item{Key: x.Key, Version: x.Version})
 			}
-			if !Admits(s, b, gav("g:a:1"), items) {
-				t.Fatal(told(items))
+			if !Admits(s, b, sample.Gav("g:a:1"), items) {
+				t.Fatal(sample.Tell(items))
 			}
 		}
 	}

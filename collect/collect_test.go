@@ -11,56 +11,9 @@ import (
 	"pomace/bounds"
 	"pomace/coord"
 	"pomace/model"
+	"pomace/sample"
 	"pomace/store"
 )
-
-func gav(s string) api.Gav {
-	g, _ := coord.ParseGav(s)
-	return g
-}
-
-// dep writes a dependency "g:a version scope", a - for what isn't said; more stands in it, too.
-func dep(s string, more ...string) string {
-	w := strings.Fields(s)
-	g, a, _ := strings.Cut(w[0], ":")
-	out := "<dependency><groupId>" + g + "</groupId><artifactId>" + a + "</artifactId>"
-	if len(w) > 1 && w[1] != "-" {
-		out += "<version>" + w[1] + "</version>"
-	}
-	if len(w) > 2 {
-		out += "<scope>" + w[2] + "</scope>"
-	}
-	return out + strings.Join(more, "") + "</dependency>"
-}
-
-const optional = "<optional>true</optional>"
-
-func excl(l ...string) string {
-	s := ""
-	for _, x := range l {
-		g, a, _ := strings.Cut(x, ":")
-		s += "<exclusion><groupId>" + g + "</groupId><artifactId>" + a + "</artifactId></exclusion>"
-	}
-	return "<exclusions>" + s + "</exclusions>"
-}
-
-func deps(l ...string) string { return "<dependencies>" + strings.Join(l, "") + "</dependencies>" }
-
-func managed(l ...string) string {
-	return "<dependencyManagement>" + deps(l...) + "</dependencyManagement>"
-}
-
-func filled(t *testing.T, l ...string) *store.Store {
-	s := store.New()
-	for i := 0; i < len(l); i += 2 {
-		g := gav(l[i])
-		text := "<project><groupId>" + g.Group + "</groupId><artifactId>" + g.Artifact + "</artifactId><version>" + g.Version + "</version>" + l[i+1] + "</project>"
-		if e := s.Put(g, text); e != api.OK {
-			t.Fatal(l[i], e)
-		}
-	}
-	return s
-}
 
 // told writes the nodes: the node above, depth, order, artifact, version, range, scope.
 func told(l []api.Branch) string {
@@ -79,7 +32,7 @@ func told(l []api.Branch) string {
 }
 
 func tree(t *testing.T, s *store.Store, root string) []api.Branch {
-	l, problem := Tree(s, gav(root))
+	l, problem := Tree(s, sample.Gav(root))
 	if problem != (api.Problem{}) {
 		t.Fatal(root, problem)
 	}
@@ -90,27 +43,27 @@ func tree(t *testing.T, s *store.Store, root string) []api.Branch {
 func TestTree(t *testing.T) {
 	for _, w := range [][]string{
 		{"0", "g:a:1", ""},
-		{"-1 0 0 a 1 1; 0 1 0 b 1 1 compile; 1 2 0 c 1 1 runtime", "g:a:1", deps(dep("g:b 1")), "g:b:1", deps(dep("g:c 1 runtime"), dep("g:d 1 test")), "g:c:1", ""},
-		{"-1 0 0 a 1 1; 0 1 0 b 1 1 compile", "g:a:1", deps(dep("g:b 1", excl("*:c"))), "g:b:1", deps(dep("g:c 1")), "g:c:1", ""},
+		{"-1 0 0 a 1 1; 0 1 0 b 1 1 compile; 1 2 0 c 1 1 runtime", "g:a:1", sample.Deps(sample.Dep("g:b 1")), "g:b:1", sample.Deps(sample.Dep("g:c 1 runtime"), sample.Dep("g:d 1 test")), "g:c:1", ""},
+		{"-1 0 0 a 1 1; 0 1 0 b 1 1 compile", "g:a:1", sample.Deps(sample.Dep("g:b 1", sample.Without("*:c"))), "g:b:1", sample.Deps(sample.Dep("g:c 1")), "g:c:1", ""},
 		{"-1 0 0 a 1 1; 0 1 0 b 1 1 test; 0 1 1 c 1 1 provided; 0 1 2 d 1 1 system; 1 2 0 e 1 1 test; 1 2 1 f 1 1 test; 2 2 0 e 1 1 provided; 2 2 1 f 1 1 provided",
-			"g:a:1", deps(dep("g:b 1 test", optional), dep("g:c 1 provided"), dep("g:d 1 system")), "g:b:1", deps(dep("g:e 1"), dep("g:f 1 runtime"), dep("g:x 1 provided")), "g:c:1", deps(dep("g:e 1"), dep("g:f 1 runtime"), dep("g:x 1 test")), "g:d:1", deps(dep("g:x 1")), "g:e:1", "", "g:f:1", ""},
-		{"-1 0 0 a 1 1; 0 1 0 b 1 1 compile; 1 2 1 d 1 1 compile", "g:a:1", deps(dep("g:b 1")), "g:b:1", deps(dep("g:c 1", optional), dep("g:d 1")), "g:d:1", ""},
-		{"-1 0 0 a 1 1; 0 1 0 b 1 1 compile; 1 2 0 c 1 1 runtime", "g:a:1", managed(dep("g:c - runtime"), dep("g:d - test")) + deps(dep("g:b 1")), "g:b:1", deps(dep("g:c 1 test"), dep("g:d 1 compile")), "g:c:1", ""},
-		{"-1 0 0 a 1 1; 0 1 0 c 1 1 compile", "g:a:1", managed(dep("g:c 2 runtime")) + deps(dep("g:c 1 compile")), "g:c:1", ""},
-		{"-1 0 0 a 1 1; 0 1 0 b 1 1 compile; 1 2 0 c 1 1 compile", "g:a:1", managed(dep("g:c -")) + deps(dep("g:b 1")), "g:b:1", managed(dep("g:c 9 test")) + deps(dep("g:c 1 compile")), "g:c:1", ""},
-		{"-1 0 0 a 1 1; 0 1 0 b 1 1 compile; 0 1 1 c 1 1 compile; 1 2 0 c 1 1 compile; 2 2 0 d 1 1 compile", "g:a:1", deps(dep("g:b 1", excl("g:d")), dep("g:c 1")), "g:b:1", deps(dep("g:c 1")), "g:c:1", deps(dep("g:d 1")), "g:d:1", ""},
-		{"-1 0 0 a 1 1; 0 1 0 c 1 1 compile", "g:a:1", deps(dep("g:c 1", excl("g:c"))), "g:c:1", ""},
-		{"-1 0 0 a 1 1; 0 1 0 b 1 1 compile; 1 2 0 a 2 2 compile round; 1 2 1 b 3 3 compile round; 1 2 2 c 1 1 compile; 4 3 0 b 9 9 compile round", "g:a:1", deps(dep("g:b 1")), "g:b:1", deps(dep("g:a 2"), dep("g:b 3"), dep("g:c 1")), "g:c:1", deps(dep("g:b 9"))},
+			"g:a:1", sample.Deps(sample.Dep("g:b 1 test", sample.Optional), sample.Dep("g:c 1 provided"), sample.Dep("g:d 1 system")), "g:b:1", sample.Deps(sample.Dep("g:e 1"), sample.Dep("g:f 1 runtime"), sample.Dep("g:x 1 provided")), "g:c:1", sample.Deps(sample.Dep("g:e 1"), sample.Dep("g:f 1 runtime"), sample.Dep("g:x 1 test")), "g:d:1", sample.Deps(sample.Dep("g:x 1")), "g:e:1", "", "g:f:1", ""},
+		{"-1 0 0 a 1 1; 0 1 0 b 1 1 compile; 1 2 1 d 1 1 compile", "g:a:1", sample.Deps(sample.Dep("g:b 1")), "g:b:1", sample.Deps(sample.Dep("g:c 1", sample.Optional), sample.Dep("g:d 1")), "g:d:1", ""},
+		{"-1 0 0 a 1 1; 0 1 0 b 1 1 compile; 1 2 0 c 1 1 runtime", "g:a:1", sample.Managed(sample.Dep("g:c - runtime"), sample.Dep("g:d - test")) + sample.Deps(sample.Dep("g:b 1")), "g:b:1", sample.Deps(sample.Dep("g:c 1 test"), sample.Dep("g:d 1 compile")), "g:c:1", ""},
+		{"-1 0 0 a 1 1; 0 1 0 c 1 1 compile", "g:a:1", sample.Managed(sample.Dep("g:c 2 runtime")) + sample.Deps(sample.Dep("g:c 1 compile")), "g:c:1", ""},
+		{"-1 0 0 a 1 1; 0 1 0 b 1 1 compile; 1 2 0 c 1 1 compile", "g:a:1", sample.Managed(sample.Dep("g:c -")) + sample.Deps(sample.Dep("g:b 1")), "g:b:1", sample.Managed(sample.Dep("g:c 9 test")) + sample.Deps(sample.Dep("g:c 1 compile")), "g:c:1", ""},
+		{"-1 0 0 a 1 1; 0 1 0 b 1 1 compile; 0 1 1 c 1 1 compile; 1 2 0 c 1 1 compile; 2 2 0 d 1 1 compile", "g:a:1", sample.Deps(sample.Dep("g:b 1", sample.Without("g:d")), sample.Dep("g:c 1")), "g:b:1", sample.Deps(sample.Dep("g:c 1")), "g:c:1", sample.Deps(sample.Dep("g:d 1")), "g:d:1", ""},
+		{"-1 0 0 a 1 1; 0 1 0 c 1 1 compile", "g:a:1", sample.Deps(sample.Dep("g:c 1", sample.Without("g:c"))), "g:c:1", ""},
+		{"-1 0 0 a 1 1; 0 1 0 b 1 1 compile; 1 2 0 a 2 2 compile round; 1 2 1 b 3 3 compile round; 1 2 2 c 1 1 compile; 4 3 0 b 9 9 compile round", "g:a:1", sample.Deps(sample.Dep("g:b 1")), "g:b:1", sample.Deps(sample.Dep("g:a 2"), sample.Dep("g:b 3"), sample.Dep("g:c 1")), "g:c:1", sample.Deps(sample.Dep("g:b 9"))},
 	} {
 		want := w[0]
 		if want == "0" {
 			want = "-1 0 0 a 1 1"
 		}
-		if got := told(tree(t, filled(t, w[1:]...), "g:a:1")); got != want {
+		if got := told(tree(t, sample.Store(w[1:]...), "g:a:1")); got != want {
 			t.Errorf("%s\n%s", got, want)
 		}
 	}
-	l := tree(t, filled(t, "g:a:1", ""), "g:a:1")
+	l := tree(t, sample.Store("g:a:1", ""), "g:a:1")
 	if l[0].Key != (api.Key{Group: "g", Artifact: "a", Type: "jar"}) || l[0].Scope != api.NoScope {
 		t.Error(l)
 	}
@@ -118,24 +71,24 @@ func TestTree(t *testing.T) {
 
 // P12.1: trees of one builder.
 func TestWith(t *testing.T) {
-	s := filled(t, "g:a:1", deps(dep("g:b 1")), "g:b:1", "")
+	s := sample.Store("g:a:1", sample.Deps(sample.Dep("g:b 1")), "g:b:1", "")
 	b := model.New(s)
-	l, problem := With(s, b, gav("g:a:1"))
+	l, problem := With(s, b, sample.Gav("g:a:1"))
 	if problem != (api.Problem{}) || !Same(l, tree(t, s, "g:a:1")) || b.Built() != 2 {
 		t.Error(l, problem)
 	}
-	if l, problem := With(s, nil, gav("g:a:1")); l != nil || problem != (api.Problem{Err: api.ErrPom, Gav: gav("g:a:1")}) {
+	if l, problem := With(s, nil, sample.Gav("g:a:1")); l != nil || problem != (api.Problem{Err: api.ErrPom, Gav: sample.Gav("g:a:1")}) {
 		t.Error(problem)
 	}
-	if l, problem := Tree(nil, gav("g:a:1")); l != nil || problem != (api.Problem{Err: api.ErrPom, Gav: gav("g:a:1")}) {
+	if l, problem := Tree(nil, sample.Gav("g:a:1")); l != nil || problem != (api.Problem{Err: api.ErrPom, Gav: sample.Gav("g:a:1")}) {
 		t.Error(problem)
 	}
 }
 
 // P12.3: ranges and versions, by the need or by what the root manages.
 func TestNode(t *testing.T) {
-	s := filled(t, "g:a:1", managed(dep("g:c [1,3)"), dep("g:d 7"))+deps(dep("g:b [1,3]"), dep("g:d [2]")),
-		"g:b:1", "", "g:b:3.0", deps(dep("g:c [9]"), dep("g:d [8]"), dep("g:e (,1]")), "g:b:3", deps(dep("g:x 1")), "g:b:4", "", "g:c:1", "", "g:c:2", "", "g:c:3", "", "g:d:2", "", "g:d:7", "", "g:e:1-rc", "")
+	s := sample.Store("g:a:1", sample.Managed(sample.Dep("g:c [1,3)"), sample.Dep("g:d 7"))+sample.Deps(sample.Dep("g:b [1,3]"), sample.Dep("g:d [2]")),
+		"g:b:1", "", "g:b:3.0", sample.Deps(sample.Dep("g:c [9]"), sample.Dep("g:d [8]"), sample.Dep("g:e (,1]")), "g:b:3", sample.Deps(sample.Dep("g:x 1")), "g:b:4", "", "g:c:1", "", "g:c:2", "", "g:c:3", "", "g:d:2", "", "g:d:7", "", "g:e:1-rc", "")
 	const want = "-1 0 0 a 1 1; 0 1 0 b 3.0 [1,3] compile; 0 1 1 d 2 [2] compile; 1 2 0 c 2 [1,3) compile; 1 2 1 d 7 7 compile; 1 2 2 e 1-rc (,1] compile"
 	if got := told(tree(t, s, "g:a:1")); got != want {
 		t.Error(got)
@@ -148,14 +101,14 @@ func TestProblems(t *testing.T) {
 		want api.Problem
 		l    []string
 	}{
-		{api.Problem{Err: api.ErrPom, Gav: gav("g:a:1")}, nil},
-		{api.Problem{Err: api.ErrEmpty, Gav: gav("g:a:1"), Where: "g:b:jar"}, []string{"g:a:1", deps(dep("g:b [1]"))}},
-		{api.Problem{Err: api.ErrEmpty, Gav: gav("g:b:1"), Where: "g:c:war:x"}, []string{"g:a:1", deps(dep("g:b 1"), dep("g:d 1")), "g:b:1", deps(dep("g:c (1,2]", "<type>war</type><classifier>x</classifier>")), "g:c:1", "", "g:c:3", ""}},
-		{api.Problem{Err: api.ErrPom, Gav: gav("g:b:1")}, []string{"g:a:1", deps(dep("g:b 1"), dep("g:c [1]")), "g:c:1", deps(dep("g:d [1]"))}},
-		{api.Problem{Err: api.ErrEmpty, Gav: gav("g:a:1"), Where: "g:c:jar"}, []string{"g:a:1", deps(dep("g:b 1"), dep("g:c [1]"))}},
-		{api.Problem{Err: api.ErrFree, Gav: gav("g:b:1"), Where: "dependency[1]/version"}, []string{"g:a:1", deps(dep("g:b 1")), "g:b:1", deps(dep("g:c -"))}},
+		{api.Problem{Err: api.ErrPom, Gav: sample.Gav("g:a:1")}, nil},
+		{api.Problem{Err: api.ErrEmpty, Gav: sample.Gav("g:a:1"), Where: "g:b:jar"}, []string{"g:a:1", sample.Deps(sample.Dep("g:b [1]"))}},
+		{api.Problem{Err: api.ErrEmpty, Gav: sample.Gav("g:b:1"), Where: "g:c:war:x"}, []string{"g:a:1", sample.Deps(sample.Dep("g:b 1"), sample.Dep("g:d 1")), "g:b:1", sample.Deps(sample.Dep("g:c (1,2]", "<type>war</type><classifier>x</classifier>")), "g:c:1", "", "g:c:3", ""}},
+		{api.Problem{Err: api.ErrPom, Gav: sample.Gav("g:b:1")}, []string{"g:a:1", sample.Deps(sample.Dep("g:b 1"), sample.Dep("g:c [1]")), "g:c:1", sample.Deps(sample.Dep("g:d [1]"))}},
+		{api.Problem{Err: api.ErrEmpty, Gav: sample.Gav("g:a:1"), Where: "g:c:jar"}, []string{"g:a:1", sample.Deps(sample.Dep("g:b 1"), sample.Dep("g:c [1]"))}},
+		{api.Problem{Err: api.ErrFree, Gav: sample.Gav("g:b:1"), Where: "dependency[1]/version"}, []string{"g:a:1", sample.Deps(sample.Dep("g:b 1")), "g:b:1", sample.Deps(sample.Dep("g:c -"))}},
 	} {
-		if l, problem := Tree(filled(t, w.l...), gav("g:a:1")); problem != w.want || l != nil {
+		if l, problem := Tree(sample.Store(w.l...), sample.Gav("g:a:1")); problem != w.want || l != nil {
 			t.Error(i, problem)
 		}
 	}
@@ -166,41 +119,41 @@ func wide(t *testing.T, n, m int, more ...string) *store.Store {
 	many := func(a string, n int) string {
 		var l []string
 		for i := range n {
-			l = append(l, dep("g:"+a+" 1", "<classifier>k"+strconv.Itoa(i)+"</classifier>"))
+			l = append(l, sample.Dep("g:"+a+" 1", "<classifier>k"+strconv.Itoa(i)+"</classifier>"))
 		}
 		return strings.Join(l, "")
 	}
-	return filled(t, "g:a:1", deps(many("b", n), strings.Join(more, "")), "g:b:1", deps(many("c", m)), "g:c:1", "")
+	return sample.Store("g:a:1", sample.Deps(many("b", n), strings.Join(more, "")), "g:b:1", sample.Deps(many("c", m)), "g:c:1", "")
 }
 
 // P12.3: as many nodes as may be, and one more, ahead of what is empty.
 func TestBig(t *testing.T) {
-	if l, problem := Tree(wide(t, 63, 64), gav("g:a:1")); problem != (api.Problem{}) || len(l) != api.MaxTree {
+	if l, problem := Tree(wide(t, 63, 64), sample.Gav("g:a:1")); problem != (api.Problem{}) || len(l) != api.MaxTree {
 		t.Error(len(l), problem)
 	}
-	big := api.Problem{Err: api.ErrBig, Gav: gav("g:a:1"), Where: "tree"}
-	if l, problem := Tree(wide(t, 64, 64), gav("g:a:1")); problem != big || l != nil {
+	big := api.Problem{Err: api.ErrBig, Gav: sample.Gav("g:a:1"), Where: "tree"}
+	if l, problem := Tree(wide(t, 64, 64), sample.Gav("g:a:1")); problem != big || l != nil {
 		t.Error(problem)
 	}
-	if _, problem := Tree(wide(t, 63, 64, dep("g:c 1")), gav("g:a:1")); problem != big {
+	if _, problem := Tree(wide(t, 63, 64, sample.Dep("g:c 1")), sample.Gav("g:a:1")); problem != big {
 		t.Error(problem)
 	}
 	s := wide(t, 63, 64)
-	s.Put(gav("h:a:1"), "<project><groupId>h</groupId><artifactId>a</artifactId><version>1</version>"+deps(dep("g:a 1"), dep("g:c 1"))+"</project>")
-	if _, problem := Tree(s, gav("h:a:1")); problem != (api.Problem{Err: api.ErrBig, Gav: gav("h:a:1"), Where: "tree"}) {
+	s.Put(sample.Gav("h:a:1"), "<project><groupId>h</groupId><artifactId>a</artifactId><version>1</version>"+sample.Deps(sample.Dep("g:a 1"), sample.Dep("g:c 1"))+"</project>")
+	if _, problem := Tree(s, sample.Gav("h:a:1")); problem != (api.Problem{Err: api.ErrBig, Gav: sample.Gav("h:a:1"), Where: "tree"}) {
 		t.Error(problem)
 	}
-	for n, want := range map[int]api.Problem{62: {Err: api.ErrEmpty, Gav: gav("g:c:1"), Where: "g:h:jar"}, 63: big} {
+	for n, want := range map[int]api.Problem{62: {Err: api.ErrEmpty, Gav: sample.Gav("g:c:1"), Where: "g:h:jar"}, 63: big} {
 		s := wide(t, n, 64)
 		u := store.New()
 		for _, g := range s.All() {
 			text, _ := s.Text(g)
 			if g.Artifact == "c" {
-				text = strings.Replace(text, "</project>", deps(dep("g:h [1]"))+"</project>", 1)
+				text = strings.Replace(text, "</project>", sample.Deps(sample.Dep("g:h [1]"))+"</project>", 1)
 			}
 			u.Put(g, text)
 		}
-		if _, problem := Tree(u, gav("g:a:1")); problem != want {
+		if _, problem := Tree(u, sample.Gav("g:a:1")); problem != want {
 			t.Error("ahead of what is empty", n, problem)
 		}
 	}
@@ -208,13 +161,13 @@ func TestBig(t *testing.T) {
 
 // P12.4: paths, names, what is the same.
 func TestPath(t *testing.T) {
-	l := tree(t, filled(t, "g:a:1", deps(dep("g:b 1"), dep("g:c 1")), "g:b:1", "", "g:c:1", deps(dep("g:x 1", optional), dep("g:b 2")), "g:b:2", ""), "g:a:1")
+	l := tree(t, sample.Store("g:a:1", sample.Deps(sample.Dep("g:b 1"), sample.Dep("g:c 1")), "g:b:1", "", "g:c:1", sample.Deps(sample.Dep("g:x 1", sample.Optional), sample.Dep("g:b 2")), "g:b:2", ""), "g:a:1")
 	for i, want := range map[int][]int{-1: nil, 0: nil, 1: {0}, 2: {1}, 3: {1, 1}, 4: nil, 1 << 40: nil} {
 		if got := Path(l, i); !slices.Equal(got, want) {
 			t.Error(i, got)
 		}
 	}
-	if len(Path(nil, 0)) != 0 || Gav(l[3]) != gav("g:b:2") {
+	if len(Path(nil, 0)) != 0 || Gav(l[3]) != sample.Gav("g:b:2") {
 		t.Error(Gav(l[3]))
 	}
 	for i, change := range []func(b *api.Branch){
@@ -243,19 +196,19 @@ func someStore(t *testing.T, r *rand.Rand) *store.Store {
 					s := "g:" + string("abcd"[r.Intn(4)]) + " " + []string{"1", "2", "[1]", "[1,2]", "[1,2)"}[r.Intn(5)] + " " + []string{"compile", "runtime", "test", "provided"}[r.Intn(8)%4]
 					more := ""
 					if r.Intn(5) == 0 {
-						more = optional
+						more = sample.Optional
 					}
 					if r.Intn(4) == 0 {
-						more += excl([]string{"*:c", "g:d", "g:a"}[r.Intn(3)])
+						more += sample.Without([]string{"*:c", "g:d", "g:a"}[r.Intn(3)])
 					}
-					ds = append(ds, dep(s, more))
+					ds = append(ds, sample.Dep(s, more))
 				}
 				return strings.Join(ds, "")
 			}
-			l = append(l, "g:"+a+":"+strconv.Itoa(v), managed(some(2))+deps(some(4)))
+			l = append(l, "g:"+a+":"+strconv.Itoa(v), sample.Managed(some(2))+sample.Deps(some(4)))
 		}
 	}
-	return filled(t, l...)
+	return sample.Store(l...)
 }
 
 // P12.5, P12.6, P12.7: the order of the nodes, and what is never among them.
@@ -264,7 +217,7 @@ func TestFollows(t *testing.T) {
 	for range 3000 {
 		s := someStore(t, r)
 		b := model.New(s)
-		l, problem := With(s, b, gav("g:a:1"))
+		l, problem := With(s, b, sample.Gav("g:a:1"))
 		if problem != (api.Problem{}) {
 			t.Fatal(problem)
 		}

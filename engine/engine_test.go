@@ -11,70 +11,21 @@ import (
 	"pomace/audit"
 	"pomace/bounds"
 	"pomace/collect"
-	"pomace/coord"
 	"pomace/mediate"
 	"pomace/model"
 	"pomace/paths"
 	"pomace/proof"
+	"pomace/sample"
 	"pomace/store"
 )
 
-func gav(s string) api.Gav {
-	g, _ := coord.ParseGav(s)
-	return g
-}
-
-// dep writes a dependency "g:a version scope", a - for what isn't said.
-func dep(s string) string {
-	w := strings.Fields(s)
-	g, a, _ := strings.Cut(w[0], ":")
-	out := "<dependency><groupId>" + g + "</groupId><artifactId>" + a + "</artifactId>"
-	if len(w) > 1 && w[1] != "-" {
-		out += "<version>" + w[1] + "</version>"
-	}
-	if len(w) > 2 {
-		out += "<scope>" + w[2] + "</scope>"
-	}
-	return out + "</dependency>"
-}
-
-func deps(l ...string) string { return "<dependencies>" + strings.Join(l, "") + "</dependencies>" }
-
-func project(g api.Gav, more string) string {
-	return "<project><groupId>" + g.Group + "</groupId><artifactId>" + g.Artifact + "</artifactId><version>" + g.Version + "</version>" + more + "</project>"
-}
-
-func filled(t *testing.T, l ...string) *store.Store {
-	s := store.New()
-	for i := 0; i < len(l); i += 2 {
-		if e := s.Put(gav(l[i]), project(gav(l[i]), l[i+1])); e != api.OK {
-			t.Fatal(l[i], e)
-		}
-	}
-	return s
-}
-
-func example(t *testing.T) *store.Store {
-	return filled(t, "g:a:1", deps(dep("g:b 1"), dep("g:c 1")), "g:b:1", deps(dep("g:d [1]")), "g:c:1", deps(dep("g:d [2]")), "g:b:2", deps(dep("g:d [2]")), "g:d:1", "", "g:d:2", "")
-}
-
-func told(l []api.Item) string {
-	var out []string
-	for _, x := range l {
-		out = append(out, x.Key.Artifact+x.Version)
-	}
-	return strings.Join(out, " ")
-}
-
-func key(a string) api.Key { return api.Key{Group: "g", Artifact: a, Type: "jar"} }
-
 // P19.1: each part is what its layer answers.
 func TestParts(t *testing.T) {
-	s := example(t)
-	e := New(s, gav("g:a:1"), 1000)
-	tree, problem := collect.Tree(s, gav("g:a:1"))
+	s := sample.Broken()
+	e := New(s, sample.Gav("g:a:1"), 1000)
+	tree, problem := collect.Tree(s, sample.Gav("g:a:1"))
 	chosen := mediate.Choose(tree)
-	f, audited := audit.Seek(s, model.New(s), gav("g:a:1"), 1000)
+	f, audited := audit.Seek(s, model.New(s), sample.Gav("g:a:1"), 1000)
 	got, p := e.Find()
 	if e.Problem() != problem || !collect.Same(e.Tree(), tree) || !mediate.Same(e.Chosen(), chosen) || !slices.Equal(e.Report(), paths.Report(tree, chosen)) || !slices.EqualFunc(e.Breaches(), audit.Breaches(tree, chosen), audit.SameBreach) || p != audited || !sameFinding(f, got) {
 		t.Error("parts")
@@ -84,53 +35,53 @@ func TestParts(t *testing.T) {
 			t.Error(scope)
 		}
 	}
-	if told(e.Path(api.ScopeCompile)) != "b1 d1 c1" || len(e.Breaches()) != 1 || len(got.Items) != 4 {
+	if sample.Tell(e.Path(api.ScopeCompile)) != "b1 d1 c1" || len(e.Breaches()) != 1 || len(got.Items) != 4 {
 		t.Error("example")
 	}
 }
 
 // P19.1: with a problem all but it is nothing.
 func TestProblem(t *testing.T) {
-	s := filled(t, "g:a:1", deps(dep("g:b [1]")))
-	want := api.Problem{Err: api.ErrEmpty, Gav: gav("g:a:1"), Where: "g:b:jar"}
-	e := New(s, gav("g:a:1"), -1)
+	s := sample.Store("g:a:1", sample.Deps(sample.Dep("g:b [1]")))
+	want := api.Problem{Err: api.ErrEmpty, Gav: sample.Gav("g:a:1"), Where: "g:b:jar"}
+	e := New(s, sample.Gav("g:a:1"), -1)
 	f, p := e.Find()
-	if e.Problem() != want || p != want || !sameFinding(f, api.Finding{}) || len(e.Tree())+len(e.Chosen())+len(e.Path(1))+len(e.Report())+len(e.Breaches())+len(Why(e, key("a"))) > 0 || e.Steps() != 5 {
+	if e.Problem() != want || p != want || !sameFinding(f, api.Finding{}) || len(e.Tree())+len(e.Chosen())+len(e.Path(1))+len(e.Report())+len(e.Breaches())+len(Why(e, sample.Key("a"))) > 0 || e.Steps() != 5 {
 		t.Error(e.Problem(), p, e.Steps())
 	}
-	r := Run(s, gav("g:a:1"), 9)
+	r := Run(s, sample.Gav("g:a:1"), 9)
 	if !Same(r, api.Result{Problem: want, Audit: want}) {
 		t.Error(r)
 	}
-	r = Run(example(t), gav("g:a:1"), -1)
-	if r.Problem != (api.Problem{}) || r.Audit != (api.Problem{Err: api.ErrArg, Gav: gav("g:a:1"), Where: "most"}) || told(r.Paths[0]) != "b1 d1 c1" || !sameFinding(r.Finding, api.Finding{}) {
+	r = Run(sample.Broken(), sample.Gav("g:a:1"), -1)
+	if r.Problem != (api.Problem{}) || r.Audit != (api.Problem{Err: api.ErrArg, Gav: sample.Gav("g:a:1"), Where: "most"}) || sample.Tell(r.Paths[0]) != "b1 d1 c1" || !sameFinding(r.Finding, api.Finding{}) {
 		t.Error(r)
 	}
-	if p := New(nil, gav("g:a:1"), 9).Problem(); p != (api.Problem{Err: api.ErrPom, Gav: gav("g:a:1")}) {
+	if p := New(nil, sample.Gav("g:a:1"), 9).Problem(); p != (api.Problem{Err: api.ErrPom, Gav: sample.Gav("g:a:1")}) {
 		t.Error(p)
 	}
 }
 
 // P19.2: each part once; what is answered is its own.
 func TestOnce(t *testing.T) {
-	s := example(t)
+	s := sample.Broken()
 	for i, w := range []struct {
 		ask   func(e *Engine)
 		steps int
 	}{
 		{func(e *Engine) {}, 0}, {func(e *Engine) { e.Problem(); e.Tree(); e.Problem() }, 1}, {func(e *Engine) { e.Chosen(); e.Tree() }, 2}, {func(e *Engine) { e.Path(1); e.Path(2) }, 2}, {func(e *Engine) { e.Report() }, 3}, {func(e *Engine) { e.Breaches(); e.Breaches() }, 3},
-		{func(e *Engine) { e.Find(); e.Find() }, 2}, {func(e *Engine) { e.Find(); e.Report(); e.Breaches(); e.Path(5); Why(e, key("b")) }, 5}, {func(e *Engine) { Why(e, key("b")) }, 2},
+		{func(e *Engine) { e.Find(); e.Find() }, 2}, {func(e *Engine) { e.Find(); e.Report(); e.Breaches(); e.Path(5); Why(e, sample.Key("b")) }, 5}, {func(e *Engine) { Why(e, sample.Key("b")) }, 2},
 	} {
-		e := New(s, gav("g:a:1"), 9)
+		e := New(s, sample.Gav("g:a:1"), 9)
 		w.ask(e)
 		if e.Steps() != w.steps {
 			t.Error(i, e.Steps())
 		}
 	}
-	e := New(s, gav("g:a:1"), 9)
+	e := New(s, sample.Gav("g:a:1"), 9)
 	e.Tree()
 	asks := s.Asks()
-	s.Put(gav("g:z:1"), "")
+	s.Put(sample.Gav("g:z:1"), "")
 	e.Tree()
 	e.Chosen()
 	if s.Asks() != asks {
@@ -147,7 +98,7 @@ func TestOnce(t *testing.T) {
 	if e.Tree()[4].Range.Parts[0].Lo.Version == "x" || e.Chosen()[0].Version == "x" || e.Report()[0] == "x" || e.Breaches()[0].Path[0] == 9 || e.Breaches()[0].Range.Parts[0].Lo.Version == "x" || f.Items[0].Version == "x" {
 		t.Error("kept")
 	}
-	e = New(filled(t, "g:a:1", deps(dep("g:b 1"), dep("g:c 1")), "g:b:1", deps(dep("g:d [1]")), "g:c:1", deps(dep("g:d [2]")), "g:d:1", "", "g:d:2", ""), gav("g:a:1"), 9)
+	e = New(sample.Store("g:a:1", sample.Deps(sample.Dep("g:b 1"), sample.Dep("g:c 1")), "g:b:1", sample.Deps(sample.Dep("g:d [1]")), "g:c:1", sample.Deps(sample.Dep("g:d [2]")), "g:d:1", "", "g:d:2", ""), sample.Gav("g:a:1"), 9)
 	f, _ = e.Find()
 	f.Question.Clauses[0][0], f.Proof[0] = 77, []int{77}
 	if f, _ = e.Find(); f.End != api.Unsat || f.Question.Clauses[0][0] == 77 || proof.Check(f.Question, f.Proof) >= 0 {
@@ -157,17 +108,17 @@ func TestOnce(t *testing.T) {
 
 // P19.3: all at once; what is the same.
 func TestRun(t *testing.T) {
-	s := filled(t, "g:a:1", deps(dep("g:b 1"), dep("g:c 1 runtime"), dep("g:d 1 provided"), dep("g:e 1 system"), dep("g:f 1 test")), "g:b:1", "", "g:c:1", "", "g:d:1", "", "g:e:1", "", "g:f:1", "")
-	r := Run(s, gav("g:a:1"), 9)
+	s := sample.Store("g:a:1", sample.Deps(sample.Dep("g:b 1"), sample.Dep("g:c 1 runtime"), sample.Dep("g:d 1 provided"), sample.Dep("g:e 1 system"), sample.Dep("g:f 1 test")), "g:b:1", "", "g:c:1", "", "g:d:1", "", "g:e:1", "", "g:f:1", "")
+	r := Run(s, sample.Gav("g:a:1"), 9)
 	for i, want := range []string{"b1 d1 e1", "b1 c1", "b1 d1", "e1", "b1 c1 d1 e1 f1"} {
-		if told(r.Paths[i]) != want {
-			t.Error(i, told(r.Paths[i]))
+		if sample.Tell(r.Paths[i]) != want {
+			t.Error(i, sample.Tell(r.Paths[i]))
 		}
 	}
 	if len(r.Report) != 6 || r.Finding.End != api.Sat || r.Problem != (api.Problem{}) || r.Audit != (api.Problem{}) || !Same(r, r) {
 		t.Error(r)
 	}
-	full := Run(example(t), gav("g:a:1"), 9)
+	full := Run(sample.Broken(), sample.Gav("g:a:1"), 9)
 	full.Finding.Question, full.Finding.Proof = api.Question{Vars: 1, Clauses: [][]int{{1}}}, [][]int{{}}
 	for i, change := range []func(r *api.Result){
 		func(r *api.Result) { r.Problem.Err = 1 }, func(r *api.Result) { r.Paths[4] = nil }, func(r *api.Result) { r.Report = r.Report[1:] }, func(r *api.Result) { r.Breaches = nil }, func(r *api.Result) { r.Audit.Where = "x" }, func(r *api.Result) { r.Finding.End = 3 },
@@ -183,15 +134,15 @@ func TestRun(t *testing.T) {
 
 // P19.4: the way to what is chosen.
 func TestWhy(t *testing.T) {
-	e := New(example(t), gav("g:a:1"), 9)
+	e := New(sample.Broken(), sample.Gav("g:a:1"), 9)
 	tree := e.Tree()
-	if got := Why(e, key("d")); !collect.Same(got, []api.Branch{tree[0], tree[1], tree[3]}) {
+	if got := Why(e, sample.Key("d")); !collect.Same(got, []api.Branch{tree[0], tree[1], tree[3]}) {
 		t.Error(got)
 	}
-	if got := Why(e, key("a")); !collect.Same(got, tree[:1]) {
+	if got := Why(e, sample.Key("a")); !collect.Same(got, tree[:1]) {
 		t.Error(got)
 	}
-	if got := Why(e, key("x")); len(got) != 0 {
+	if got := Why(e, sample.Key("x")); len(got) != 0 {
 		t.Error(got)
 	}
 }
@@ -203,7 +154,7 @@ func TestNil(t *testing.T) {
 	if want := (api.Problem{Err: api.ErrPom}); e.Problem() != want || p != want || !sameFinding(f, api.Finding{}) {
 		t.Error(p)
 	}
-	if len(e.Tree())+len(e.Chosen())+len(e.Path(1))+len(e.Report())+len(e.Breaches())+len(Why(e, key("a")))+e.Steps() > 0 {
+	if len(e.Tree())+len(e.Chosen())+len(e.Path(1))+len(e.Report())+len(e.Breaches())+len(Why(e, sample.Key("a")))+e.Steps() > 0 {
 		t.Error("something")
 	}
 }
@@ -218,13 +169,13 @@ func someStore(r *rand.Rand, wild bool) *store.Store {
 				if wild && r.Intn(20) == 0 {
 					x = []string{"g:b [9]", "g:z 1", "g:b -", "g:b [", "* 1"}[r.Intn(5)]
 				}
-				ds = append(ds, dep(x))
+				ds = append(ds, sample.Dep(x))
 			}
-			text := project(gav("g:"+a+":"+strconv.Itoa(v)), deps(ds...))
+			text := sample.Project("g:"+a+":"+strconv.Itoa(v), sample.Deps(ds...))
 			if wild && r.Intn(20) == 0 {
 				text = text[:r.Intn(len(text))]
 			}
-			s.Put(gav("g:"+a+":"+strconv.Itoa(v)), text)
+			s.Put(sample.Gav("g:"+a+":"+strconv.Itoa(v)), text)
 		}
 	}
 	return s
@@ -236,8 +187,8 @@ func TestEnds(t *testing.T) {
 	problems := 0
 	for range 1000 {
 		s := someStore(r, true)
-		got := Run(s, gav("g:a:1"), r.Intn(20)-1)
-		tree, problem := collect.Tree(s, gav("g:a:1"))
+		got := Run(s, sample.Gav("g:a:1"), r.Intn(20)-1)
+		tree, problem := collect.Tree(s, sample.Gav("g:a:1"))
 		if got.Problem != problem {
 			t.Fatal(got.Problem, problem)
 		}
@@ -260,7 +211,7 @@ func TestEnds(t *testing.T) {
 			}
 		}
 		f := got.Finding
-		if f.End == api.Sat && !audit.Admits(s, model.New(s), gav("g:a:1"), f.Items) || f.End == api.Unsat && proof.Check(f.Question, f.Proof) >= 0 || (f.End == 0) != (got.Audit != api.Problem{}) {
+		if f.End == api.Sat && !audit.Admits(s, model.New(s), sample.Gav("g:a:1"), f.Items) || f.End == api.Unsat && proof.Check(f.Question, f.Proof) >= 0 || (f.End == 0) != (got.Audit != api.Problem{}) {
 			t.Fatal(f, got.Audit)
 		}
 	}
@@ -282,8 +233,8 @@ func TestContent(t *testing.T) {
 			}
 			u.Put(g, text)
 		}
-		u.Put(gav("other:a:1"), "<")
-		a, b := Run(s, gav("g:a:1"), 50), Run(u, gav("g:a:1"), 50)
+		u.Put(sample.Gav("other:a:1"), "<")
+		a, b := Run(s, sample.Gav("g:a:1"), 50), Run(u, sample.Gav("g:a:1"), 50)
 		a.Problem.Place, a.Audit.Place, b.Problem.Place, b.Audit.Place = api.Place{}, api.Place{}, api.Place{}, api.Place{}
 		if !Same(a, b) {
 			t.Fatal(a, b)

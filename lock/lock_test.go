@@ -10,13 +10,8 @@ import (
 	"pomace/api"
 	"pomace/coord"
 	"pomace/engine"
-	"pomace/store"
+	"pomace/sample"
 )
-
-func gav(s string) api.Gav {
-	g, _ := coord.ParseGav(s)
-	return g
-}
 
 func key(s string) api.Key {
 	k, _ := coord.ParseKey(s)
@@ -25,45 +20,28 @@ func key(s string) api.Key {
 
 func pin(k, v string, scope int) api.Pin { return api.Pin{Key: key(k), Version: v, Scope: scope} }
 
-// filled makes a store of names and what they need: artifact, version, scope.
-func filled(t *testing.T, l ...string) *store.Store {
-	s := store.New()
-	for i := 0; i < len(l); i += 2 {
-		g := gav(l[i])
-		text := "<project><groupId>" + g.Group + "</groupId><artifactId>" + g.Artifact + "</artifactId><version>" + g.Version + "</version><dependencies>"
-		w := strings.Fields(l[i+1])
-		for k := 0; k+2 < len(w); k += 3 {
-			text += "<dependency><groupId>g</groupId><artifactId>" + w[k] + "</artifactId><version>" + w[k+1] + "</version><scope>" + w[k+2] + "</scope></dependency>"
-		}
-		if e := s.Put(g, text+"</dependencies></project>"); e != api.OK {
-			t.Fatal(l[i], e)
-		}
-	}
-	return s
+func example() *engine.Engine {
+	return engine.New(sample.Store("g:a:1", sample.Needs("c 1 test; b 2"), "g:b:2", sample.Needs("d 3 runtime"), "g:c:1", "", "g:d:3", ""), sample.Gav("g:a:1"), 9)
 }
 
-func example(t *testing.T) *engine.Engine {
-	return engine.New(filled(t, "g:a:1", "c 1 test b 2 compile", "g:b:2", "d 3 runtime", "g:c:1", "", "g:d:3", ""), gav("g:a:1"), 9)
-}
-
-func sample() api.Lock {
-	return api.Lock{Root: gav("g:a:1"), Pins: []api.Pin{pin("g:b:jar", "2", 1), pin("g:c:jar", "1", 5), pin("g:c:jar:src", "1+x", 3), pin("g:c:war", "1", 4), pin("h:a:jar", "3", 2)}}
+func locked() api.Lock {
+	return api.Lock{Root: sample.Gav("g:a:1"), Pins: []api.Pin{pin("g:b:jar", "2", 1), pin("g:c:jar", "1", 5), pin("g:c:jar:src", "1+x", 3), pin("g:c:war", "1", 4), pin("h:a:jar", "3", 2)}}
 }
 
 // P24.1: the lock of an engine, and what may be a lock.
 func TestOf(t *testing.T) {
-	want := api.Lock{Root: gav("g:a:1"), Pins: []api.Pin{pin("g:b:jar", "2", 1), pin("g:c:jar", "1", 5), pin("g:d:jar", "3", 2)}}
-	if l, problem := Of(example(t), gav("g:a:1")); problem != (api.Problem{}) || !Same(l, want) {
+	want := api.Lock{Root: sample.Gav("g:a:1"), Pins: []api.Pin{pin("g:b:jar", "2", 1), pin("g:c:jar", "1", 5), pin("g:d:jar", "3", 2)}}
+	if l, problem := Of(example(), sample.Gav("g:a:1")); problem != (api.Problem{}) || !Same(l, want) {
 		t.Error(l, problem)
 	}
 	want.Root = api.Gav{Group: "x"}
-	if l, problem := Of(example(t), want.Root); problem != (api.Problem{}) || !Same(l, want) {
+	if l, problem := Of(example(), want.Root); problem != (api.Problem{}) || !Same(l, want) {
 		t.Error(l, problem)
 	}
-	if l, problem := Of(engine.New(nil, gav("g:a:1"), 9), gav("g:a:1")); problem != (api.Problem{Err: api.ErrPom, Gav: gav("g:a:1")}) || !Same(l, api.Lock{}) {
+	if l, problem := Of(engine.New(nil, sample.Gav("g:a:1"), 9), sample.Gav("g:a:1")); problem != (api.Problem{Err: api.ErrPom, Gav: sample.Gav("g:a:1")}) || !Same(l, api.Lock{}) {
 		t.Error(l, problem)
 	}
-	if l, problem := Of(nil, gav("g:a:1")); problem != (api.Problem{Err: api.ErrPom}) || !Same(l, api.Lock{}) {
+	if l, problem := Of(nil, sample.Gav("g:a:1")); problem != (api.Problem{Err: api.ErrPom}) || !Same(l, api.Lock{}) {
 		t.Error(l, problem)
 	}
 }
@@ -78,7 +56,7 @@ func pins(n int) []api.Pin {
 }
 
 func TestMay(t *testing.T) {
-	for i, l := range []api.Lock{sample(), {Root: gav("g:a:1")}, {Root: gav("g:a:1"), Pins: pins(api.MaxTree)}} {
+	for i, l := range []api.Lock{locked(), {Root: sample.Gav("g:a:1")}, {Root: sample.Gav("g:a:1"), Pins: pins(api.MaxTree)}} {
 		if !May(l) {
 			t.Error("may", i)
 		}
@@ -87,9 +65,9 @@ func TestMay(t *testing.T) {
 		func(l *api.Lock) { l.Root = api.Gav{} }, func(l *api.Lock) { l.Pins = pins(api.MaxTree + 1) }, func(l *api.Lock) { l.Pins[0].Key.Type = "" }, func(l *api.Lock) { l.Pins[0], l.Pins[1] = l.Pins[1], l.Pins[0] }, func(l *api.Lock) { l.Pins[1] = l.Pins[0] },
 		func(l *api.Lock) { l.Pins[0].Version = "[1]" }, func(l *api.Lock) { l.Pins[0].Version = "" }, func(l *api.Lock) { l.Pins[4].Scope = 0 }, func(l *api.Lock) { l.Pins[4].Scope = 6 }, func(l *api.Lock) { l.Pins[4].Scope = -1 },
 	} {
-		l := sample()
+		l := locked()
 		change(&l)
-		if May(l) || Same(l, sample()) {
+		if May(l) || Same(l, locked()) {
 			t.Error("may not", i)
 		}
 	}
@@ -99,16 +77,16 @@ const text = "pomace 1\nroot g:a:1\npin g:b:jar 2 compile\npin g:c:jar 1 test\np
 
 // P24.2: locks as texts, and what is wrong in texts.
 func TestTexts(t *testing.T) {
-	if got := Print(sample()); got != text {
+	if got := Print(locked()); got != text {
 		t.Error(got)
 	}
 	if got := Print(api.Lock{Pins: []api.Pin{{}}}); got != "pomace 1\nroot ::\npin ::  \nend 1\n" {
 		t.Errorf("%q", got)
 	}
-	if l, e, line := Parse(text); e != api.OK || line != 0 || !Same(l, sample()) {
+	if l, e, line := Parse(text); e != api.OK || line != 0 || !Same(l, locked()) {
 		t.Error(l, e, line)
 	}
-	if l, e, line := Parse("pomace 1\nroot g:a:1\nend 0\n"); e != api.OK || line != 0 || !Same(l, api.Lock{Root: gav("g:a:1")}) {
+	if l, e, line := Parse("pomace 1\nroot g:a:1\nend 0\n"); e != api.OK || line != 0 || !Same(l, api.Lock{Root: sample.Gav("g:a:1")}) {
 		t.Error(l, e, line)
 	}
 	const front = "pomace 1\nroot g:a:1\n"
@@ -122,7 +100,7 @@ func TestTexts(t *testing.T) {
 			t.Errorf("%q: %d %d", s, e, line)
 		}
 	}
-	full := api.Lock{Root: gav("g:a:1"), Pins: pins(api.MaxTree)}
+	full := api.Lock{Root: sample.Gav("g:a:1"), Pins: pins(api.MaxTree)}
 	if l, e, _ := Parse(Print(full)); e != api.OK || !Same(l, full) {
 		t.Error("full", e)
 	}
@@ -134,15 +112,15 @@ func TestTexts(t *testing.T) {
 
 // P24.3: does it hold; which pin; what is the same.
 func TestAsk(t *testing.T) {
-	e := example(t)
-	l, _ := Of(e, gav("g:a:1"))
+	e := example()
+	l, _ := Of(e, sample.Gav("g:a:1"))
 	other := l
-	other.Root = gav("g:a:2")
+	other.Root = sample.Gav("g:a:2")
 	less := l
 	less.Pins = l.Pins[:2]
 	moved := api.Lock{Root: l.Root, Pins: slices.Clone(l.Pins)}
 	moved.Pins[0].Scope = 2
-	if !Holds(e, l) || Holds(e, other) || Holds(e, less) || Holds(e, moved) || Holds(nil, l) || Holds(nil, api.Lock{}) || Holds(engine.New(nil, gav("g:a:1"), 9), api.Lock{Root: gav("g:a:1")}) {
+	if !Holds(e, l) || Holds(e, other) || Holds(e, less) || Holds(e, moved) || Holds(nil, l) || Holds(nil, api.Lock{}) || Holds(engine.New(nil, sample.Gav("g:a:1"), 9), api.Lock{Root: sample.Gav("g:a:1")}) {
 		t.Error("holds")
 	}
 	if p, ok := Find(l, key("g:c:jar")); !ok || p != l.Pins[1] {
@@ -162,7 +140,7 @@ func TestBack(t *testing.T) {
 	lines := strings.SplitAfter(text, "\n")
 	good := 0
 	for range 20000 {
-		l := sample()
+		l := locked()
 		l.Pins = slices.DeleteFunc(l.Pins, func(api.Pin) bool { return r.Intn(2) == 0 })
 		if m, e, _ := Parse(Print(l)); !May(l) || e != api.OK || !Same(l, m) {
 			t.Fatal(l)
@@ -191,12 +169,12 @@ func TestHolds(t *testing.T) {
 		for _, a := range []string{"a", "b", "c", "d"} {
 			need := ""
 			for range r.Intn(4) {
-				need += string("abcd"[r.Intn(4)]) + " 1 " + []string{"compile", "runtime", "test", "provided", "system"}[r.Intn(5)] + " "
+				need += string("abcd"[r.Intn(4)]) + " 1 " + []string{"compile", "runtime", "test", "provided", "system"}[r.Intn(5)] + ";"
 			}
-			l = append(l, "g:"+a+":1", need)
+			l = append(l, "g:"+a+":1", sample.Needs(need))
 		}
-		e := engine.New(filled(t, l...), gav("g:a:1"), 9)
-		got, problem := Of(e, gav("g:a:1"))
+		e := engine.New(sample.Store(l...), sample.Gav("g:a:1"), 9)
+		got, problem := Of(e, sample.Gav("g:a:1"))
 		if problem != (api.Problem{}) || !May(got) || !Holds(e, got) {
 			t.Fatal(got, problem)
 		}

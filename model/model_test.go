@@ -11,19 +11,9 @@ import (
 	"pomace/bounds"
 	"pomace/chain"
 	"pomace/coord"
+	"pomace/sample"
 	"pomace/store"
 )
-
-func gav(s string) api.Gav {
-	g, _ := coord.ParseGav(s)
-	return g
-}
-
-// project writes a project of the name g with more in it.
-func project(g, more string) string {
-	x := gav(g)
-	return "<project><groupId>" + x.Group + "</groupId><artifactId>" + x.Artifact + "</artifactId><version>" + x.Version + "</version>" + more + "</project>"
-}
 
 // dep writes a dependency: group:artifact, a version, more.
 func dep(id, v, more string) string {
@@ -35,12 +25,6 @@ func dep(id, v, more string) string {
 	return s + "</dependency>"
 }
 
-func deps(l ...string) string { return "<dependencies>" + strings.Join(l, "") + "</dependencies>" }
-
-func managed(l ...string) string {
-	return "<dependencyManagement>" + deps(l...) + "</dependencyManagement>"
-}
-
 func imp(id, v string) string { return dep(id, v, "<type>pom</type><scope>import</scope>") }
 
 func props(l ...string) string {
@@ -49,17 +33,6 @@ func props(l ...string) string {
 		s += "<" + l[i] + ">" + l[i+1] + "</" + l[i] + ">"
 	}
 	return "<properties>" + s + "</properties>"
-}
-
-// filled makes a store of names and what more is in their projects.
-func filled(t *testing.T, l ...string) *store.Store {
-	s := store.New()
-	for i := 0; i < len(l); i += 2 {
-		if e := s.Put(gav(l[i]), project(l[i], l[i+1])); e != api.OK {
-			t.Fatal(l[i], e)
-		}
-	}
-	return s
 }
 
 func told(m api.Model) string {
@@ -86,7 +59,7 @@ func toldManaged(m api.Model) string {
 }
 
 func build(t *testing.T, s *store.Store, g string) api.Model {
-	m, problem := New(s).Build(gav(g))
+	m, problem := New(s).Build(sample.Gav(g))
 	if problem != (api.Problem{}) {
 		t.Fatal(g, problem)
 	}
@@ -96,13 +69,13 @@ func build(t *testing.T, s *store.Store, g string) api.Model {
 // P11.1: steps 1 to 5: names, packaging, properties.
 func TestNames(t *testing.T) {
 	s := store.New()
-	s.Put(gav("g:p:1"), project("g:p:1", props("rev", "7", "x", "${project.artifactId}-${project.parent.version}-${u}")))
-	s.Put(gav("g:c:7"), "<project><parent><groupId>g</groupId><artifactId>p</artifactId><version>1</version></parent><artifactId>${name}</artifactId><version>${rev}</version><packaging>${pack}</packaging>"+props("name", "c", "pack", "war", "project.version", "lost")+"</project>")
-	s.Put(gav("g:e:1"), project("g:e:1", "<packaging>${none}</packaging>"+props("none", "")))
+	s.Put(sample.Gav("g:p:1"), sample.Project("g:p:1", props("rev", "7", "x", "${project.artifactId}-${project.parent.version}-${u}")))
+	s.Put(sample.Gav("g:c:7"), "<project><parent><groupId>g</groupId><artifactId>p</artifactId><version>1</version></parent><artifactId>${name}</artifactId><version>${rev}</version><packaging>${pack}</packaging>"+props("name", "c", "pack", "war", "project.version", "lost")+"</project>")
+	s.Put(sample.Gav("g:e:1"), sample.Project("g:e:1", "<packaging>${none}</packaging>"+props("none", "")))
 	m := build(t, s, "g:c:7")
 	want := []api.Prop{{Name: "rev", Value: "7"}, {Name: "x", Value: "c-1-${u}"}, {Name: "name", Value: "c"}, {Name: "pack", Value: "war"}, {Name: "project.version", Value: "7"}, {Name: "project.groupId", Value: "g"}, {Name: "project.artifactId", Value: "c"},
 		{Name: "project.parent.groupId", Value: "g"}, {Name: "project.parent.artifactId", Value: "p"}, {Name: "project.parent.version", Value: "1"}}
-	if m.Gav != gav("g:c:7") || m.Packaging != "war" || !slices.Equal(m.Props, want) {
+	if m.Gav != sample.Gav("g:c:7") || m.Packaging != "war" || !slices.Equal(m.Props, want) {
 		t.Error(m)
 	}
 	if m := build(t, s, "g:e:1"); m.Packaging != "jar" {
@@ -127,42 +100,42 @@ func TestProblems(t *testing.T) {
 		{"<project><groupId>g</groupId><artifactId>${project.artifactId}</artifactId></project>", api.ErrProp, "project/artifactId"},
 		{"<project><groupId>h</groupId><artifactId>${x}</artifactId><properties><x>${x}</x></properties></project>", api.ErrField, "project/groupId"},
 		{"<project><groupId>g</groupId><artifactId>a</artifactId><version>${c}</version>" + huge + "</project>", api.ErrBig, "project/version"},
-		{project("g:a:1", "<packaging>${x}</packaging>"+props("x", "${x}")), api.ErrProp, "project/packaging"},
-		{project("g:a:1", "<packaging>a b</packaging>"), api.ErrField, "project/packaging"},
-		{project("g:a:1", "<packaging>${x}</packaging>"), api.ErrField, "project/packaging"},
-		{project("g:a:1", props("x", "${y}", "y", "${x}")), api.ErrProp, "project/properties"},
-		{project("g:a:1", huge), api.ErrBig, "project/properties"},
-		{project("g:a:1", managed(dep("g:b", "", ""), dep("g:*", "", ""))), api.ErrField, "managed[2]/artifactId"},
-		{project("g:a:1", managed("<dependency><artifactId>b</artifactId></dependency>")), api.ErrField, "managed[1]/groupId"},
-		{project("g:a:1", managed(dep("g:b", "[1", ""))), api.ErrRange, "managed[1]/version"},
-		{project("g:a:1", managed(dep("g:b", "${u}", ""))), api.ErrRange, "managed[1]/version"},
-		{project("g:a:1", managed(dep("g:b", "", "<type>${e}</type>"))+props("e", "")), api.ErrField, "managed[1]/type"},
-		{project("g:a:1", managed(dep("g:b", "", "<classifier>a b</classifier>"))), api.ErrField, "managed[1]/classifier"},
-		{project("g:a:1", managed(dep("g:b", "[", "<type>*</type>"))), api.ErrRange, "managed[1]/version"},
-		{project("g:a:1", managed(dep("g:b", "1", "<scope>import</scope>"))), api.ErrField, "managed[1]/scope"},
-		{project("g:a:1", managed(dep("g:b", "1", "<type>pom</type><classifier>c</classifier><scope>import</scope>"))), api.ErrField, "managed[1]/scope"},
-		{project("g:a:1", managed(imp("g:b", "[1]"))), api.ErrField, "managed[1]/scope"},
-		{project("g:a:1", managed(imp("g:b", ""))), api.ErrField, "managed[1]/scope"},
-		{project("g:a:1", managed(imp("g:a", "1"), dep("g:*", "", ""))), api.ErrField, "managed[2]/artifactId"},
-		{project("g:a:1", managed(dep("g:b", "", ""), imp("g:a", " 1 "))), api.ErrBom, "managed[2]"},
-		{project("g:a:1", deps(dep("g:b", "", ""))), api.ErrFree, "dependency[1]/version"},
-		{project("g:a:1", deps(dep("g:b", "1", ""), dep("g:b", "", ""))), api.ErrFree, "dependency[2]/version"},
-		{project("g:a:1", deps(dep("g:b", "1", ""), dep("g:b", "1", "<type>jar+</type>"))), api.ErrField, "dependency[2]/type"},
-		{project("g:a:1", deps(dep("g:b", "${e}", ""))+props("e", "")), api.ErrFree, "dependency[1]/version"},
-		{project("g:a:1", deps(dep("g:b", "(1)", ""))), api.ErrRange, "dependency[1]/version"},
+		{sample.Project("g:a:1", "<packaging>${x}</packaging>"+props("x", "${x}")), api.ErrProp, "project/packaging"},
+		{sample.Project("g:a:1", "<packaging>a b</packaging>"), api.ErrField, "project/packaging"},
+		{sample.Project("g:a:1", "<packaging>${x}</packaging>"), api.ErrField, "project/packaging"},
+		{sample.Project("g:a:1", props("x", "${y}", "y", "${x}")), api.ErrProp, "project/properties"},
+		{sample.Project("g:a:1", huge), api.ErrBig, "project/properties"},
+		{sample.Project("g:a:1", sample.Managed(dep("g:b", "", ""), dep("g:*", "", ""))), api.ErrField, "managed[2]/artifactId"},
+		{sample.Project("g:a:1", sample.Managed("<dependency><artifactId>b</artifactId></dependency>")), api.ErrField, "managed[1]/groupId"},
+		{sample.Project("g:a:1", sample.Managed(dep("g:b", "[1", ""))), api.ErrRange, "managed[1]/version"},
+		{sample.Project("g:a:1", sample.Managed(dep("g:b", "${u}", ""))), api.ErrRange, "managed[1]/version"},
+		{sample.Project("g:a:1", sample.Managed(dep("g:b", "", "<type>${e}</type>"))+props("e", "")), api.ErrField, "managed[1]/type"},
+		{sample.Project("g:a:1", sample.Managed(dep("g:b", "", "<classifier>a b</classifier>"))), api.ErrField, "managed[1]/classifier"},
+		{sample.Project("g:a:1", sample.Managed(dep("g:b", "[", "<type>*</type>"))), api.ErrRange, "managed[1]/version"},
+		{sample.Project("g:a:1", sample.Managed(dep("g:b", "1", "<scope>import</scope>"))), api.ErrField, "managed[1]/scope"},
+		{sample.Project("g:a:1", sample.Managed(dep("g:b", "1", "<type>pom</type><classifier>c</classifier><scope>import</scope>"))), api.ErrField, "managed[1]/scope"},
+		{sample.Project("g:a:1", sample.Managed(imp("g:b", "[1]"))), api.ErrField, "managed[1]/scope"},
+		{sample.Project("g:a:1", sample.Managed(imp("g:b", ""))), api.ErrField, "managed[1]/scope"},
+		{sample.Project("g:a:1", sample.Managed(imp("g:a", "1"), dep("g:*", "", ""))), api.ErrField, "managed[2]/artifactId"},
+		{sample.Project("g:a:1", sample.Managed(dep("g:b", "", ""), imp("g:a", " 1 "))), api.ErrBom, "managed[2]"},
+		{sample.Project("g:a:1", sample.Deps(dep("g:b", "", ""))), api.ErrFree, "dependency[1]/version"},
+		{sample.Project("g:a:1", sample.Deps(dep("g:b", "1", ""), dep("g:b", "", ""))), api.ErrFree, "dependency[2]/version"},
+		{sample.Project("g:a:1", sample.Deps(dep("g:b", "1", ""), dep("g:b", "1", "<type>jar+</type>"))), api.ErrField, "dependency[2]/type"},
+		{sample.Project("g:a:1", sample.Deps(dep("g:b", "${e}", ""))+props("e", "")), api.ErrFree, "dependency[1]/version"},
+		{sample.Project("g:a:1", sample.Deps(dep("g:b", "(1)", ""))), api.ErrRange, "dependency[1]/version"},
 	} {
 		s := store.New()
-		s.Put(gav("g:a:1"), w.text)
-		m, problem := New(s).Build(gav("g:a:1"))
-		if problem != (api.Problem{Err: w.e, Gav: gav("g:a:1"), Where: w.where}) || !Same(m, api.Model{}) {
+		s.Put(sample.Gav("g:a:1"), w.text)
+		m, problem := New(s).Build(sample.Gav("g:a:1"))
+		if problem != (api.Problem{Err: w.e, Gav: sample.Gav("g:a:1"), Where: w.where}) || !Same(m, api.Model{}) {
 			t.Errorf("%.200s: %v", w.text, problem)
 		}
 	}
-	s := filled(t, "g:a:1", managed(imp("g:b", "1")), "g:b:1", deps(dep("x:y", "", "")), "g:c:1", managed(imp("g:d", "1")), "g:d:1", managed(imp("g:c", "1")), "g:e:1", managed(imp("g:f", "1")))
+	s := sample.Store("g:a:1", sample.Managed(imp("g:b", "1")), "g:b:1", sample.Deps(dep("x:y", "", "")), "g:c:1", sample.Managed(imp("g:d", "1")), "g:d:1", sample.Managed(imp("g:c", "1")), "g:e:1", sample.Managed(imp("g:f", "1")))
 	for g, want := range map[string]api.Problem{
-		"g:a:1": {Err: api.ErrFree, Gav: gav("g:b:1"), Where: "dependency[1]/version"}, "g:c:1": {Err: api.ErrBom, Gav: gav("g:d:1"), Where: "managed[1]"}, "g:e:1": {Err: api.ErrPom, Gav: gav("g:f:1")}, "g:z:1": {Err: api.ErrPom, Gav: gav("g:z:1")},
+		"g:a:1": {Err: api.ErrFree, Gav: sample.Gav("g:b:1"), Where: "dependency[1]/version"}, "g:c:1": {Err: api.ErrBom, Gav: sample.Gav("g:d:1"), Where: "managed[1]"}, "g:e:1": {Err: api.ErrPom, Gav: sample.Gav("g:f:1")}, "g:z:1": {Err: api.ErrPom, Gav: sample.Gav("g:z:1")},
 	} {
-		if _, problem := New(s).Build(gav(g)); problem != want {
+		if _, problem := New(s).Build(sample.Gav(g)); problem != want {
 			t.Error(g, problem)
 		}
 	}
@@ -170,11 +143,11 @@ func TestProblems(t *testing.T) {
 
 // P11.1: step 6: what is managed, and what is imported.
 func TestManaged(t *testing.T) {
-	s := filled(t,
-		"g:a:1", managed(dep("m:x", "1", ""), imp("g:b", "1"), dep("m:x", "2", ""), dep("m:${y}", "[1,2)", "<type>jar</type>"), imp("g:c", "1"))+props("y", "y"),
-		"g:b:1", managed(dep("m:y", "3", ""), imp("g:d", "1"), dep("m:z", "4", "")),
-		"g:c:1", managed(dep("m:z", "5", ""), dep("m:z", "6", "<type>war</type>"), dep("m:w", "7", "")),
-		"g:d:1", managed(dep("m:w", "8", "")))
+	s := sample.Store(
+		"g:a:1", sample.Managed(dep("m:x", "1", ""), imp("g:b", "1"), dep("m:x", "2", ""), dep("m:${y}", "[1,2)", "<type>jar</type>"), imp("g:c", "1"))+props("y", "y"),
+		"g:b:1", sample.Managed(dep("m:y", "3", ""), imp("g:d", "1"), dep("m:z", "4", "")),
+		"g:c:1", sample.Managed(dep("m:z", "5", ""), dep("m:z", "6", "<type>war</type>"), dep("m:w", "7", "")),
+		"g:d:1", sample.Managed(dep("m:w", "8", "")))
 	if got := toldManaged(build(t, s, "g:a:1")); got != "x 1, y [1,2), z 4, w 8, z 6" {
 		t.Error(got)
 	}
@@ -185,8 +158,8 @@ func TestManaged(t *testing.T) {
 		}
 		return strings.Join(l, "")
 	}
-	s = filled(t, "g:a:1", managed(many(600, "x")+imp("g:b", "1")), "g:b:1", managed(many(600, "y")), "g:c:1", managed(many(600, "y")+imp("g:b", "1")), "g:d:1", managed(many(600, "x")+imp("g:e", "1")), "g:e:1", managed(many(424, "y")))
-	if _, problem := New(s).Build(gav("g:a:1")); problem != (api.Problem{Err: api.ErrBig, Gav: gav("g:a:1"), Where: "managed"}) {
+	s = sample.Store("g:a:1", sample.Managed(many(600, "x")+imp("g:b", "1")), "g:b:1", sample.Managed(many(600, "y")), "g:c:1", sample.Managed(many(600, "y")+imp("g:b", "1")), "g:d:1", sample.Managed(many(600, "x")+imp("g:e", "1")), "g:e:1", sample.Managed(many(424, "y")))
+	if _, problem := New(s).Build(sample.Gav("g:a:1")); problem != (api.Problem{Err: api.ErrBig, Gav: sample.Gav("g:a:1"), Where: "managed"}) {
 		t.Error(problem)
 	}
 	if len(build(t, s, "g:c:1").Managed) != 600 || len(build(t, s, "g:d:1").Managed) != api.MaxList {
@@ -198,21 +171,21 @@ func TestManaged(t *testing.T) {
 func imports(t *testing.T, n int) *store.Store {
 	var l []string
 	for i := 1; i < n; i++ {
-		l = append(l, "g:a:"+strconv.Itoa(i), managed(imp("g:a", strconv.Itoa(i+1))))
+		l = append(l, "g:a:"+strconv.Itoa(i), sample.Managed(imp("g:a", strconv.Itoa(i+1))))
 	}
-	return filled(t, append(l, "g:a:"+strconv.Itoa(n), "")...)
+	return sample.Store(append(l, "g:a:"+strconv.Itoa(n), "")...)
 }
 
 // P11.1, P11.3: imports within one another, and what is remembered of them.
 func TestDeep(t *testing.T) {
 	b := New(imports(t, 33))
-	if _, problem := b.Build(gav("g:a:1")); problem != (api.Problem{Err: api.ErrBig, Gav: gav("g:a:32"), Where: "managed[1]"}) || b.Built() != 0 {
+	if _, problem := b.Build(sample.Gav("g:a:1")); problem != (api.Problem{Err: api.ErrBig, Gav: sample.Gav("g:a:32"), Where: "managed[1]"}) || b.Built() != 0 {
 		t.Error(problem, b.Built())
 	}
-	if _, problem := b.Build(gav("g:a:2")); problem != (api.Problem{}) || b.Built() != 32 {
+	if _, problem := b.Build(sample.Gav("g:a:2")); problem != (api.Problem{}) || b.Built() != 32 {
 		t.Error(problem, b.Built())
 	}
-	if _, problem := b.Build(gav("g:a:1")); problem != (api.Problem{}) || b.Built() != 33 {
+	if _, problem := b.Build(sample.Gav("g:a:1")); problem != (api.Problem{}) || b.Built() != 33 {
 		t.Error(problem, b.Built())
 	}
 }
@@ -222,10 +195,10 @@ func TestNeeds(t *testing.T) {
 	excl := func(g, a string) string {
 		return "<exclusions><exclusion><groupId>" + g + "</groupId><artifactId>" + a + "</artifactId></exclusion></exclusions>"
 	}
-	s := filled(t, "g:a:1",
+	s := sample.Store("g:a:1",
 		props("v", "[1,2)", "c", "src", "t", "war", "e", "")+
-			managed(dep("g:b", "${v}", ""), dep("g:c", "3", "<scope>test</scope><optional>true</optional>"+excl("*", "x")))+
-			deps(dep("g:b", "", ""), dep("g:c", "", ""), dep("g:c", "4", ""), dep("g:c", "5", "<type>${t}</type><classifier>${c}</classifier>"), dep("g:c", " 6 ", "<classifier>${e}</classifier>"), dep("g:d", "1", "<scope>runtime</scope><optional>true</optional>"),
+			sample.Managed(dep("g:b", "${v}", ""), dep("g:c", "3", "<scope>test</scope><optional>true</optional>"+excl("*", "x")))+
+			sample.Deps(dep("g:b", "", ""), dep("g:c", "", ""), dep("g:c", "4", ""), dep("g:c", "5", "<type>${t}</type><classifier>${c}</classifier>"), dep("g:c", " 6 ", "<classifier>${e}</classifier>"), dep("g:d", "1", "<scope>runtime</scope><optional>true</optional>"),
 				dep("${project.groupId}:e", "(,2]", "<optional>false</optional>"+excl("g", "*"))))
 	want := "g:b:jar [1,2) compile, g:c:jar 3 test optional -*:x, g:c:war:src 5 compile, g:d:jar 1 runtime optional, g:e:jar (,2] compile -g:*"
 	if got := told(build(t, s, "g:a:1")); got != want {
@@ -259,39 +232,39 @@ func TestManage(t *testing.T) {
 
 // P11.3: what is remembered, what is the same, and a nil builder.
 func TestBuilder(t *testing.T) {
-	s := filled(t, "g:a:1", managed(imp("g:b", "1"), dep("m:z", "1", "")), "g:b:1", managed(dep("m:x", "1", "<exclusions><exclusion><groupId>*</groupId><artifactId>*</artifactId></exclusion></exclusions>"))+deps(dep("m:x", "[1]", "")), "g:c:1", deps(dep("g:x", "", "")), "g:d:1", managed(imp("g:b", "1"), imp("g:c", "1")))
+	s := sample.Store("g:a:1", sample.Managed(imp("g:b", "1"), dep("m:z", "1", "")), "g:b:1", sample.Managed(dep("m:x", "1", "<exclusions><exclusion><groupId>*</groupId><artifactId>*</artifactId></exclusion></exclusions>"))+sample.Deps(dep("m:x", "[1]", "")), "g:c:1", sample.Deps(dep("g:x", "", "")), "g:d:1", sample.Managed(imp("g:b", "1"), imp("g:c", "1")))
 	b := New(s)
-	b.Build(gav("g:d:1"))
+	b.Build(sample.Gav("g:d:1"))
 	if b.Built() != 1 {
 		t.Error(b.Built())
 	}
-	m, _ := b.Build(gav("g:a:1"))
+	m, _ := b.Build(sample.Gav("g:a:1"))
 	asks := s.Asks()
-	n, problem := b.Build(gav("g:a:1"))
+	n, problem := b.Build(sample.Gav("g:a:1"))
 	if b.Built() != 2 || problem != (api.Problem{}) || !Same(m, n) || s.Asks() != asks {
 		t.Error(b.Built(), problem)
 	}
-	x, _ := b.Build(gav("g:b:1"))
-	y, _ := b.Build(gav("g:b:1"))
+	x, _ := b.Build(sample.Gav("g:b:1"))
+	y, _ := b.Build(sample.Gav("g:b:1"))
 	x.Props[0].Value, x.Managed[0].Excl[0].Group, x.Needs[0].Range.Parts[0].Lo.Version, x.Needs[0].Excl[0].Group = "?", "?", "?", "?"
-	if z, _ := b.Build(gav("g:b:1")); Same(x, y) || !Same(y, z) {
+	if z, _ := b.Build(sample.Gav("g:b:1")); Same(x, y) || !Same(y, z) {
 		t.Error("kept")
 	}
 	for i, change := range []func(m *api.Model){
 		func(m *api.Model) { m.Gav.Group = "" }, func(m *api.Model) { m.Packaging = "" }, func(m *api.Model) { m.Props = nil }, func(m *api.Model) { m.Managed[0].Version = "" }, func(m *api.Model) { m.Needs[0].Key.Type = "" },
 		func(m *api.Model) { m.Needs[0].Range = api.Range{} }, func(m *api.Model) { m.Needs[0].Scope = 2 }, func(m *api.Model) { m.Needs[0].Optional = true }, func(m *api.Model) { m.Needs[0].Excl = nil },
 	} {
-		z, _ := b.Build(gav("g:b:1"))
+		z, _ := b.Build(sample.Gav("g:b:1"))
 		change(&z)
 		if Same(y, z) || i > 3 && SameNeed(y.Needs[0], z.Needs[0]) {
 			t.Error(i)
 		}
 	}
 	var none *Builder
-	if m, problem := none.Build(gav("g:a:1")); problem != (api.Problem{Err: api.ErrPom, Gav: gav("g:a:1")}) || !Same(m, api.Model{}) || none.Built() != 0 {
+	if m, problem := none.Build(sample.Gav("g:a:1")); problem != (api.Problem{Err: api.ErrPom, Gav: sample.Gav("g:a:1")}) || !Same(m, api.Model{}) || none.Built() != 0 {
 		t.Error(problem)
 	}
-	if _, problem := New(nil).Build(gav("g:a:1")); problem != (api.Problem{Err: api.ErrPom, Gav: gav("g:a:1")}) {
+	if _, problem := New(nil).Build(sample.Gav("g:a:1")); problem != (api.Problem{Err: api.ErrPom, Gav: sample.Gav("g:a:1")}) {
 		t.Error(problem)
 	}
 }
@@ -310,14 +283,14 @@ func someStore(t *testing.T, r *rand.Rand) *store.Store {
 	v := func() string { return []string{"", "1", "[1,2)", "${v}", "${w}", "${u}", "["}[min(r.Intn(30), 6)%6] }
 	more := func() string { return []string{"", "<scope>test</scope>", "<type>${w}</type>"}[r.Intn(3)] }
 	for i, a := range names {
-		in := props("v", "1.${w}", "w", []string{"2", "${p}"}[r.Intn(2)]) + managed(some(5, v, more)) + deps(some(3, v, more))
+		in := props("v", "1.${w}", "w", []string{"2", "${p}"}[r.Intn(2)]) + sample.Managed(some(5, v, more)) + sample.Deps(some(3, v, more))
 		if i < 4 && r.Intn(3) == 0 {
 			in = strings.Replace(in, "</dependencies></dependencyManagement>", imp("g:"+names[i+1+r.Intn(4-i)], "1")+"</dependencies></dependencyManagement>", 1)
 		}
 		if r.Intn(3) == 0 {
 			in += "<parent><groupId>g</groupId><artifactId>" + names[r.Intn(5)] + "</artifactId><version>1</version></parent>"
 		}
-		s.Put(gav("g:"+a+":1"), project("g:"+a+":1", in))
+		s.Put(sample.Gav("g:"+a+":1"), sample.Project("g:"+a+":1", in))
 	}
 	return s
 }
@@ -330,8 +303,8 @@ func TestFollows(t *testing.T) {
 		s := someStore(t, r)
 		b := New(s)
 		for _, a := range []string{"g:c:1", "g:a:1", "g:b:1", "g:a:1"} {
-			m, problem := b.Build(gav(a))
-			if n, other := New(s).Build(gav(a)); other != problem || !Same(m, n) {
+			m, problem := b.Build(sample.Gav(a))
+			if n, other := New(s).Build(sample.Gav(a)); other != problem || !Same(m, n) {
 				t.Fatal(problem, other)
 			}
 			if problem != (api.Problem{}) {
@@ -361,9 +334,9 @@ func TestFollows(t *testing.T) {
 
 // P11.6: own words count ahead of what is managed, that ahead of what is imported.
 func TestWhoCounts(t *testing.T) {
-	s := filled(t, "g:a:1", managed(dep("m:x", "2", ""), imp("g:b", "1"))+deps(dep("m:x", "1", ""), dep("m:x", "", "<type>war</type>"), dep("m:y", "", ""), dep("m:z", "", "")),
-		"g:b:1", managed(dep("m:x", "3", ""), dep("m:x", "4", "<type>war</type>"), dep("m:y", "5", ""), dep("m:z", "6", "")))
-	s.Put(gav("g:c:1"), "<project><parent><groupId>g</groupId><artifactId>a</artifactId><version>1</version></parent><artifactId>c</artifactId>"+managed(dep("m:z", "7", ""))+"</project>")
+	s := sample.Store("g:a:1", sample.Managed(dep("m:x", "2", ""), imp("g:b", "1"))+sample.Deps(dep("m:x", "1", ""), dep("m:x", "", "<type>war</type>"), dep("m:y", "", ""), dep("m:z", "", "")),
+		"g:b:1", sample.Managed(dep("m:x", "3", ""), dep("m:x", "4", "<type>war</type>"), dep("m:y", "5", ""), dep("m:z", "6", "")))
+	s.Put(sample.Gav("g:c:1"), "<project><parent><groupId>g</groupId><artifactId>a</artifactId><version>1</version></parent><artifactId>c</artifactId>"+sample.Managed(dep("m:z", "7", ""))+"</project>")
 	if got := told(build(t, s, "g:a:1")); got != "m:x:jar 1 compile, m:x:war 4 compile, m:y:jar 5 compile, m:z:jar 6 compile" {
 		t.Error(got)
 	}

@@ -11,58 +11,22 @@ import (
 	"pomace/audit"
 	"pomace/cnf"
 	"pomace/collect"
-	"pomace/coord"
 	"pomace/mediate"
 	"pomace/model"
 	"pomace/proof"
+	"pomace/sample"
 	"pomace/sat"
 	"pomace/store"
 )
 
-func gav(s string) api.Gav {
-	g, _ := coord.ParseGav(s)
-	return g
-}
-
-func key(a string) api.Key { return api.Key{Group: "g", Artifact: a, Type: "jar"} }
-
-func item(w string) api.Item { return api.Item{Key: key(w[:1]), Version: w[1:]} }
+func item(w string) api.Item { return api.Item{Key: sample.Key(w[:1]), Version: w[1:]} }
 
 func choices(l string) []api.Choice {
 	var out []api.Choice
 	for _, w := range strings.Fields(l) {
-		out = append(out, api.Choice{Key: key(w[:1]), Version: w[1:]})
+		out = append(out, api.Choice{Key: sample.Key(w[:1]), Version: w[1:]})
 	}
 	return out
-}
-
-func told(l []api.Item) string {
-	var out []string
-	for _, x := range l {
-		out = append(out, x.Key.Artifact+x.Version)
-	}
-	return strings.Join(out, " ")
-}
-
-// filled makes a store of names and what they need.
-func filled(t *testing.T, l ...string) *store.Store {
-	s := store.New()
-	for i := 0; i < len(l); i += 2 {
-		g := gav(l[i])
-		text := "<project><groupId>" + g.Group + "</groupId><artifactId>" + g.Artifact + "</artifactId><version>" + g.Version + "</version><dependencies>"
-		w := strings.Fields(l[i+1])
-		for k := 0; k+1 < len(w); k += 2 {
-			text += "<dependency><groupId>g</groupId><artifactId>" + w[k] + "</artifactId><version>" + w[k+1] + "</version></dependency>"
-		}
-		if e := s.Put(g, text+"</dependencies></project>"); e != api.OK {
-			t.Fatal(l[i], e)
-		}
-	}
-	return s
-}
-
-func example(t *testing.T) *store.Store {
-	return filled(t, "g:a:1", "b 1 c 1", "g:b:1", "d [1]", "g:c:1", "d [2]", "g:b:2", "d [2]", "g:d:1", "", "g:d:2", "")
 }
 
 // P26.1: what isn't chosen, and how much of it is taken.
@@ -84,10 +48,10 @@ func TestOthers(t *testing.T) {
 
 // P26.2: the ends.
 func TestOf(t *testing.T) {
-	s := example(t)
-	d, _ := audit.Deal(s, model.New(s), gav("g:a:1"))
+	s := sample.Broken()
+	d, _ := audit.Deal(s, model.New(s), sample.Gav("g:a:1"))
 	near, e := Of(d, choices("a1 b1 c1 d1"), 1000)
-	if e != api.OK || near.End != api.Sat || near.Cost != 2 || told(near.Items) != "a1 b2 c1 d2" || proof.Check(near.Question, near.Proof) >= 0 {
+	if e != api.OK || near.End != api.Sat || near.Cost != 2 || sample.Tell(near.Items) != "a1 b2 c1 d2" || proof.Check(near.Question, near.Proof) >= 0 {
 		t.Error(near, e)
 	}
 	// the question with one less: the deal's, and at most one of the two others
@@ -95,7 +59,7 @@ func TestOf(t *testing.T) {
 	if near.Question.Vars != 7 || !slices.EqualFunc(near.Question.Clauses, append(slices.Clone(q.Clauses), []int{-3, 7}, []int{-6, -7}), slices.Equal[[]int]) {
 		t.Error(near.Question)
 	}
-	if near, e := Of(d, choices("a1 b2 c1 d2"), 1000); e != api.OK || near.End != api.Sat || near.Cost != 0 || told(near.Items) != "a1 b2 c1 d2" || near.Question.Vars != 0 || len(near.Question.Clauses)+len(near.Proof) > 0 {
+	if near, e := Of(d, choices("a1 b2 c1 d2"), 1000); e != api.OK || near.End != api.Sat || near.Cost != 0 || sample.Tell(near.Items) != "a1 b2 c1 d2" || near.Question.Vars != 0 || len(near.Question.Clauses)+len(near.Proof) > 0 {
 		t.Error(near, e)
 	}
 	never := api.Deal{Items: []api.Item{item("a1")}, Wants: [][][]int{{{}}}}
@@ -109,13 +73,13 @@ func TestOf(t *testing.T) {
 	if near, e := Of(api.Deal{Items: []api.Item{item("a1")}, Wants: [][][]int{nil}}, nil, 0); e != api.OK || near.End != api.Open || len(near.Question.Clauses) > 0 {
 		t.Error(near, e)
 	}
-	if near, e := Of(api.Deal{Items: []api.Item{item("a1")}, Wants: [][][]int{nil}}, nil, 1); e != api.OK || near.End != api.Sat || near.Cost != 1 || told(near.Items) != "a1" {
+	if near, e := Of(api.Deal{Items: []api.Item{item("a1")}, Wants: [][][]int{nil}}, nil, 1); e != api.OK || near.End != api.Sat || near.Cost != 1 || sample.Tell(near.Items) != "a1" {
 		t.Error(near, e)
 	}
 	// none of the others is too many till their counting has too many variables
 	many := api.Deal{}
 	for i := range 600 {
-		many.Items = append(many.Items, api.Item{Key: key("x" + strconv.Itoa(i))})
+		many.Items = append(many.Items, api.Item{Key: sample.Key("x" + strconv.Itoa(i))})
 		many.Wants = append(many.Wants, [][]int{{min(i+1, 599)}})
 	}
 	for i, w := range []struct {
@@ -132,11 +96,11 @@ func TestOf(t *testing.T) {
 
 // P26.3: of a project, and each problem.
 func TestSeek(t *testing.T) {
-	s := example(t)
-	if near, problem := Seek(s, model.New(s), gav("g:a:1"), 1000); problem != (api.Problem{}) || near.Cost != 2 || told(near.Items) != "a1 b2 c1 d2" {
+	s := sample.Broken()
+	if near, problem := Seek(s, model.New(s), sample.Gav("g:a:1"), 1000); problem != (api.Problem{}) || near.Cost != 2 || sample.Tell(near.Items) != "a1 b2 c1 d2" {
 		t.Error(near, problem)
 	}
-	many := []string{"g:a:1", "b 1"}
+	many := []string{"g:a:1", sample.Needs("b 1")}
 	for i := range 182 {
 		many = append(many, "g:b:"+strconv.Itoa(i), "")
 	}
@@ -145,31 +109,27 @@ func TestSeek(t *testing.T) {
 		most int
 		want api.Problem
 	}{
-		{filled(t), 9, api.Problem{Err: api.ErrPom, Gav: gav("g:a:1")}}, {filled(t, "g:a:1", "b [1]"), 9, api.Problem{Err: api.ErrEmpty, Gav: gav("g:a:1"), Where: "g:b:jar"}}, {s, -1, api.Problem{Err: api.ErrArg, Gav: gav("g:a:1"), Where: "nearest"}},
-		{filled(t, many...), 9, api.Problem{Err: api.ErrBig, Gav: gav("g:a:1"), Where: "nearest"}},
+		{sample.Store(), 9, api.Problem{Err: api.ErrPom, Gav: sample.Gav("g:a:1")}}, {sample.Store("g:a:1", sample.Needs("b [1]")), 9, api.Problem{Err: api.ErrEmpty, Gav: sample.Gav("g:a:1"), Where: "g:b:jar"}}, {s, -1, api.Problem{Err: api.ErrArg, Gav: sample.Gav("g:a:1"), Where: "nearest"}},
+		{sample.Store(many...), 9, api.Problem{Err: api.ErrBig, Gav: sample.Gav("g:a:1"), Where: "nearest"}},
 	} {
-		if near, problem := Seek(w.s, model.New(w.s), gav("g:a:1"), w.most); problem != w.want || near.End != 0 || len(near.Items) > 0 {
+		if near, problem := Seek(w.s, model.New(w.s), sample.Gav("g:a:1"), w.most); problem != w.want || near.End != 0 || len(near.Items) > 0 {
 			t.Error(i, problem)
 		}
 	}
 	// the deal's problem: more items than may be, where the tree is small
-	s = classified(t)
-	if _, problem := Seek(s, model.New(s), gav("g:a:1"), 9); problem != (api.Problem{Err: api.ErrBig, Gav: gav("g:a:1"), Where: "deal"}) {
+	s = classified()
+	if _, problem := Seek(s, model.New(s), sample.Gav("g:a:1"), 9); problem != (api.Problem{Err: api.ErrBig, Gav: sample.Gav("g:a:1"), Where: "deal"}) {
 		t.Error(problem)
 	}
 }
 
 // classified makes a store with few projects, but many items.
-func classified(t *testing.T) *store.Store {
-	text := "<project><groupId>g</groupId><artifactId>a</artifactId><version>1</version><dependencies>"
+func classified() *store.Store {
+	var l []string
 	for i := range 350 {
-		text += "<dependency><groupId>g</groupId><artifactId>b</artifactId><version>1</version><classifier>k" + strconv.Itoa(i) + "</classifier></dependency>"
+		l = append(l, sample.Dep("g:b 1", "<classifier>k"+strconv.Itoa(i)+"</classifier>"))
 	}
-	s := filled(t, "g:b:1", "", "g:b:2", "", "g:b:3", "")
-	if s.Put(gav("g:a:1"), text+"</dependencies></project>") != api.OK {
-		t.Fatal("put")
-	}
-	return s
+	return sample.Store("g:a:1", sample.Deps(l...), "g:b:1", "", "g:b:2", "", "g:b:3", "")
 }
 
 // P26.4, P26.5: nothing that is admitted costs less; what was chosen and is admitted costs nothing.
@@ -182,20 +142,20 @@ func TestFollows(t *testing.T) {
 			for v := 1; v < 3; v++ {
 				need := ""
 				for range r.Intn(3) {
-					need += string("bcd"[r.Intn(3)]) + " " + []string{"[1]", "[2]", "[1,2]", "[1,2)", "1"}[r.Intn(5)] + " "
+					need += string("bcd"[r.Intn(3)]) + " " + []string{"[1]", "[2]", "[1,2]", "[1,2)", "1"}[r.Intn(5)] + ";"
 				}
-				l = append(l, "g:"+a+":"+strconv.Itoa(v), need)
+				l = append(l, "g:"+a+":"+strconv.Itoa(v), sample.Needs(need))
 			}
 		}
-		s := filled(t, l...)
+		s := sample.Store(l...)
 		b := model.New(s)
-		near, problem := Seek(s, b, gav("g:a:1"), 1<<30)
+		near, problem := Seek(s, b, sample.Gav("g:a:1"), 1<<30)
 		if problem != (api.Problem{}) {
 			t.Fatal(problem)
 		}
-		tree, _ := collect.Tree(s, gav("g:a:1"))
+		tree, _ := collect.Tree(s, sample.Gav("g:a:1"))
 		chosen := mediate.Choose(tree)
-		d, _ := audit.Deal(s, b, gav("g:a:1"))
+		d, _ := audit.Deal(s, b, sample.Gav("g:a:1"))
 		least := -1
 		for bits := range 1 << len(d.Items) {
 			var taken []int
@@ -215,7 +175,7 @@ func TestFollows(t *testing.T) {
 			continue
 		}
 		costs[least]++
-		if near.End != api.Sat || near.Cost != least || !audit.Admits(s, b, gav("g:a:1"), near.Items) || (least > 0) != (proof.Check(near.Question, near.Proof) < 0) || sat.May(near.Question) != api.OK {
+		if near.End != api.Sat || near.Cost != least || !audit.Admits(s, b, sample.Gav("g:a:1"), near.Items) || (least > 0) != (proof.Check(near.Question, near.Proof) < 0) || sat.May(near.Question) != api.OK {
 			t.Fatal(near, least)
 		}
 		others := 0

@@ -7,36 +7,26 @@ import (
 	"testing"
 
 	"pomace/api"
-	"pomace/coord"
 	"pomace/engine"
 	"pomace/graph"
 	"pomace/mediate"
-	"pomace/store"
+	"pomace/sample"
 )
-
-func gav(s string) api.Gav {
-	g, _ := coord.ParseGav(s)
-	return g
-}
-
-func key(a string) api.Key { return api.Key{Group: "g", Artifact: a, Type: "jar"} }
 
 func same(a, b [][]int) bool { return slices.EqualFunc(a, b, slices.Equal[[]int]) }
 
 // made makes an engine of g:a:1, of what each artifact needs.
-func made(t *testing.T, l ...string) *engine.Engine {
-	s := store.New()
+func made(l ...string) *engine.Engine {
+	var projects []string
 	for _, w := range l {
 		words := strings.Fields(w)
-		text := "<project><groupId>g</groupId><artifactId>" + words[0] + "</artifactId><version>1</version><dependencies>"
+		needs := ""
 		for _, d := range words[1:] {
-			text += "<dependency><groupId>g</groupId><artifactId>" + d + "</artifactId><version>1</version></dependency>"
+			needs += d + " 1;"
 		}
-		if s.Put(gav("g:"+words[0]+":1"), text+"</dependencies></project>") != api.OK {
-			t.Fatal(w)
-		}
+		projects = append(projects, "g:"+words[0]+":1", sample.Needs(needs))
 	}
-	return engine.New(s, gav("g:a:1"), 9)
+	return engine.New(sample.Store(projects...), sample.Gav("g:a:1"), 9)
 }
 
 func told(l []api.Item) string {
@@ -57,13 +47,13 @@ func toldWaves(l [][]api.Item) string {
 
 // P30.1: what each choice needs.
 func TestGraph(t *testing.T) {
-	e := made(t, "a b c", "b c d", "c d", "d b")
+	e := made("a b c", "b c d", "c d", "d b")
 	if got := Graph(e.Tree(), e.Chosen()); !same(got, [][]int{{1, 2}, {2, 3}, {3}, {1}}) {
 		t.Error(got)
 	}
-	node := func(up int, a string) api.Branch { return api.Branch{Up: up, Key: key(a)} }
+	node := func(up int, a string) api.Branch { return api.Branch{Up: up, Key: sample.Key(a)} }
 	l := []api.Branch{node(-1, "a"), node(0, "c"), node(0, "b"), node(0, "c"), node(0, "x"), node(2, "a"), node(2, "b"), node(1, "b")}
-	chosen := []api.Choice{{Key: key("b"), At: 2}, {Key: key("a"), At: 0}, {Key: key("c"), At: 1}, {Key: key("b"), At: 1}, {Key: key("z"), At: 99}}
+	chosen := []api.Choice{{Key: sample.Key("b"), At: 2}, {Key: sample.Key("a"), At: 0}, {Key: sample.Key("c"), At: 1}, {Key: sample.Key("b"), At: 1}, {Key: sample.Key("z"), At: 99}}
 	if got := Graph(l, chosen); !same(got, [][]int{{1, 0}, {2, 0}, {0}, {0}, nil}) {
 		t.Error(got)
 	}
@@ -94,20 +84,20 @@ func TestWaves(t *testing.T) {
 
 // P30.3: of an engine.
 func TestOf(t *testing.T) {
-	e := made(t, "a b c", "b c", "c")
+	e := made("a b c", "b c", "c")
 	if l, ok := Of(e); toldWaves(l) != "c b a" || !ok {
 		t.Error(toldWaves(l), ok)
 	}
 	for k, want := range map[string]string{"c": "abc", "b": "ab", "a": "a", "x": ""} {
-		if got := told(After(e, key(k))); got != want {
+		if got := told(After(e, sample.Key(k))); got != want {
 			t.Error(k, got)
 		}
 	}
-	if l, ok := Of(made(t, "a b d", "b c", "c b", "d e", "e")); toldWaves(l) != "e d" || ok {
+	if l, ok := Of(made("a b d", "b c", "c b", "d e", "e")); toldWaves(l) != "e d" || ok {
 		t.Error(toldWaves(l), ok)
 	}
-	for _, e := range []*engine.Engine{nil, made(t), made(t, "a b")} {
-		if l, ok := Of(e); len(l) > 0 || ok || len(After(e, key("a"))) > 0 {
+	for _, e := range []*engine.Engine{nil, made(), made("a b")} {
+		if l, ok := Of(e); len(l) > 0 || ok || len(After(e, sample.Key("a"))) > 0 {
 			t.Error(l, ok)
 		}
 	}
@@ -176,7 +166,7 @@ func TestEngines(t *testing.T) {
 			}
 			l = append(l, a)
 		}
-		e := made(t, l...)
+		e := made(l...)
 		chosen := e.Chosen()
 		waves, all := Of(e)
 		g := Graph(e.Tree(), chosen)

@@ -11,21 +11,26 @@ import (
 	"pomace/audit"
 	"pomace/cnf"
 	"pomace/console"
+	"pomace/coord"
 	"pomace/dimacs"
 	"pomace/engine"
 	"pomace/model"
 	"pomace/plan"
+	"pomace/sample"
+	"pomace/store"
 )
 
-// put is the line that puts a project, of what it needs.
-func put(name string, deps ...string) string {
-	g := strings.Split(name, ":")
-	s := "put " + name + " <project><groupId>" + g[0] + "</groupId><artifactId>" + g[1] + "</artifactId><version>" + g[2] + "</version><dependencies>"
-	for _, d := range deps {
-		w := strings.Fields(d)
-		s += "<dependency><groupId>g</groupId><artifactId>" + w[0] + "</artifactId><version>" + w[1] + "</version>" + strings.Join(w[2:], "") + "</dependency>"
+// put is the line that puts a project that needs others, a semicolon between two: artifact and version.
+func put(name, needs string) string {
+	return "put " + name + " " + sample.Project(name, sample.Needs(needs))
+}
+
+// fill puts the projects of a store.
+func fill(from *store.Store, say func(line string) string) {
+	for _, g := range from.All() {
+		text, _ := from.Text(g)
+		say("put " + coord.PrintGav(g) + " " + text)
 	}
-	return s + "</dependencies></project>"
 }
 
 // dialog says lines, and holds the answers against those behind them.
@@ -38,20 +43,21 @@ func dialog(t *testing.T, s *Shell, l ...string) {
 	}
 }
 
-func example(t *testing.T) *Shell {
+// never makes a shell with the projects of that sample.
+func never() *Shell {
 	s := New()
-	dialog(t, s, put("g:a:1", "b 1", "c 1"), "ok", put("g:b:1", "d [1]"), "ok", put("g:c:1", "d [2]"), "ok", put("g:d:1"), "ok", put("g:d:2"), "ok")
+	fill(sample.Never(), s.Say)
 	return s
 }
 
 // P31.1: locks.
 func TestLocks(t *testing.T) {
-	s := example(t)
+	s := never()
 	const text = "pomace 1\nroot g:a:1\npin g:b:jar 1 compile\npin g:c:jar 1 compile\npin g:d:jar 1 compile\nend 3"
 	dialog(t, s,
 		"locks", "", "lock x", "no root", "check x", "no root", "show x", "none", "diff x x", "none", "root g:z:1", "ok", "lock x", "error 25 g:z:1", "show x", "none", "check x", "none",
 		"root g:a:1", "ok", "lock x", "ok", "show x", text, "check x", "holds", "lock X.y-1", "ok", "locks", "X.y-1\nx", "diff x X.y-1", "", "diff x y", "none", "diff y x", "none",
-		put("g:e:1"), "ok", "check x", "holds", "root g:b:1", "ok", "check x", "turned", "lock y", "ok", "show y", "pomace 1\nroot g:b:1\npin g:d:jar 1 compile\nend 1", "diff x y", "- g:b:jar 1 compile\n- g:c:jar 1 compile", "diff y x", "+ g:b:jar 1 compile\n+ g:c:jar 1 compile",
+		put("g:e:1", ""), "ok", "check x", "holds", "root g:b:1", "ok", "check x", "turned", "lock y", "ok", "show y", "pomace 1\nroot g:b:1\npin g:d:jar 1 compile\nend 1", "diff x y", "- g:b:jar 1 compile\n- g:c:jar 1 compile", "diff y x", "+ g:b:jar 1 compile\n+ g:c:jar 1 compile",
 		"root g:c:1", "ok", "lock x", "ok", "diff y x", "~ g:d:jar 1 compile to 2 compile", "check x", "holds", "locks", "X.y-1\nx\ny")
 	if got := s.Locks(); !slices.Equal(got, []string{"X.y-1", "x", "y"}) {
 		t.Error(got)
@@ -60,7 +66,7 @@ func TestLocks(t *testing.T) {
 
 // P31.1: plans, and what is nearest and to blame.
 func TestAsk(t *testing.T) {
-	s := example(t)
+	s := never()
 	for _, line := range []string{"plan", "after g:a:jar", "nearest", "blame", "question"} {
 		dialog(t, s, line, "no root")
 	}
@@ -69,18 +75,18 @@ func TestAsk(t *testing.T) {
 		"question", "p cnf 5 6\n1 0\n-1 2 0\n-1 3 0\n-2 4 0\n-3 5 0\n-4 -5 0", "most 0", "ok", "nearest", "open", "blame", "open", "find", "open", "most x", "what?", "nearest", "open", "most 77", "ok", "nearest", "never",
 		put("g:b:2", "d [2]"), "ok", "nearest", "cost 2\ng:a:jar:1\ng:b:jar:2\ng:c:jar:1\ng:d:jar:2", "blame", "fine",
 		"root g:a:2", "ok", "plan", "error 25 g:a:2", "after g:a:jar", "error 25 g:a:2", "nearest", "error 25 g:a:2", "blame", "error 25 g:a:2", "question", "error 25 g:a:2", "root g:a", "what?", "nearest", "error 25 g:a:2",
-		put("g:a:2", "b 1", "x 1"), "ok", put("g:x:1", "y 1"), "ok", put("g:y:1", "x 1"), "ok", "plan", "g:d:jar:1\ng:b:jar:1\nround")
+		put("g:a:2", "b 1; x 1"), "ok", put("g:x:1", "y 1"), "ok", put("g:y:1", "x 1"), "ok", "plan", "g:d:jar:1\ng:b:jar:1\nround")
 	many := New()
 	dialog(t, many, "root g:a:1", "ok", put("g:a:1", "b 1"), "ok")
 	for i := range 182 {
-		many.Say(put("g:b:" + strconv.Itoa(i)))
+		many.Say(put("g:b:"+strconv.Itoa(i), ""))
 	}
 	dialog(t, many, "blame", "error 2 g:a:1 blame", "question", "error 2 g:a:1 blame", "nearest", "error 2 g:a:1 nearest")
 }
 
 // P31.1: what isn't understood.
 func TestWhat(t *testing.T) {
-	s := example(t)
+	s := never()
 	s.Say("root g:a:1")
 	s.Say("lock x")
 	for _, line := range []string{"lock", "lock x y", "lock a:b", "locks x", "show", "show x y", "show *", "check", "check x y", "check a:b", "diff", "diff x", "diff x x x", "diff x a:b", "diff * x", "plan x", "after", "after g:a", "after g:a:jar x", "nearest x", "blame x", "question x", "Lock x", "x"} {
@@ -95,7 +101,7 @@ func TestWhat(t *testing.T) {
 // P31.2: the console, the names, and a nil shell.
 func TestConsole(t *testing.T) {
 	s := New()
-	s.Say(put("g:a:1"))
+	s.Say(put("g:a:1", ""))
 	if s.Console().Store().Len() != 1 || len(s.Locks()) > 0 || s.Console().Say("projects") != "g:a:1" {
 		t.Error("console")
 	}
@@ -117,8 +123,9 @@ func TestExample(t *testing.T) {
 
 // P31.3, P31.4: answers are the layers'; the console's lines are answered as it does; lines that only ask change nothing.
 func TestFollows(t *testing.T) {
-	s, c := example(t), console.New()
-	for _, line := range []string{put("g:a:1", "b 1", "c 1"), put("g:b:1", "d [1]"), put("g:c:1", "d [2]"), put("g:d:1"), put("g:d:2"), "root g:a:1", "most 50"} {
+	s, c := never(), console.New()
+	fill(sample.Never(), c.Say)
+	for _, line := range []string{"root g:a:1", "most 50"} {
 		c.Say(line)
 		s.Say(line)
 	}
