@@ -109,14 +109,14 @@ func many(t *testing.T, n int) *store.Store {
 
 // P18.3, P18.4: problems.
 func TestProblems(t *testing.T) {
-	typed := func(n int) string {
-		var l []string
+	typed := func(n int, more ...string) string {
+		l := more
 		for i := range n {
 			l = append(l, sample.Dep("g:b 1", "<classifier>k"+strconv.Itoa(i)+"</classifier>"))
 		}
 		return sample.Deps(l...)
 	}
-	big := sample.Store("g:a:1", typed(342), "g:b:1", "", "g:b:2", "", "g:b:3", "")
+	big := sample.Store("g:a:1", typed(341, sample.Dep("g:c 1")), "g:b:1", "", "g:b:2", "", "g:b:3", "", "g:c:1", "")
 	full := sample.Store("g:a:1", typed(341), "g:b:1", "", "g:b:2", "", "g:b:3", "")
 	for i, w := range []struct {
 		s    *store.Store

@@ -77,6 +77,13 @@ func TestWith(t *testing.T) {
 	if problem != (api.Problem{}) || !Same(l, tree(t, s, "g:a:1")) || b.Built() != 2 {
 		t.Error(l, problem)
 	}
+	s = sample.Store("g:a:1", sample.Needs("b [1]; b [1] test"), "g:b:1", "")
+	b = model.New(s)
+	l, _ = With(s, b, sample.Gav("g:a:1"))
+	l[1].Range.Parts[0].Lo.Version = "9"
+	if l, _ = With(s, b, sample.Gav("g:a:1")); l[1].Range.Parts[0].Lo.Version != "1" {
+		t.Error("shared")
+	}
 	if l, problem := With(s, nil, sample.Gav("g:a:1")); l != nil || problem != (api.Problem{Err: api.ErrPom, Gav: sample.Gav("g:a:1")}) {
 		t.Error(problem)
 	}

@@ -49,7 +49,7 @@ func TestEdits(t *testing.T) {
 
 // P25.2: what may be edits.
 func TestMay(t *testing.T) {
-	for i, l := range [][]api.Edit{nil, {put(pin("a1", 1))}, {gone(pin("a1", 1)), turn(pin("b1", 1), pin("b1", 2))}, {put(api.Pin{Key: api.Key{}, Version: "["})}} {
+	for i, l := range [][]api.Edit{nil, {put(pin("a1", 1))}, {gone(pin("a1", 1)), turn(pin("b1", 1), pin("b1", 2))}, {put(api.Pin{Key: api.Key{}, Version: "["})}, {{Had: true}}, {{Has: true}}} {
 		if !May(l) {
 			t.Error("may", i)
 		}

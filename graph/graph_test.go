@@ -99,6 +99,35 @@ func TestLong(t *testing.T) {
 	}
 }
 
+// P22.4: the least that could be next, of many.
+func TestLeast(t *testing.T) {
+	r := rand.New(rand.NewSource(48))
+	for range 300 {
+		n := 1 + r.Intn(40)
+		names := r.Perm(n)
+		g := make([][]int, n)
+		for range r.Intn(2 * n) {
+			u, v := r.Intn(n), r.Intn(n)
+			if u < v {
+				g[names[u]] = append(g[names[u]], names[v])
+			}
+		}
+		var want []int
+		for len(want) < n {
+			for v := range n {
+				free := !slices.Contains(want, v) && !slices.ContainsFunc(Turned(g)[v], func(u int) bool { return !slices.Contains(want, u) })
+				if free {
+					want = append(want, v)
+					break
+				}
+			}
+		}
+		if got, ok := Order(g); !ok || !slices.Equal(got, want) {
+			t.Fatal(g, got, want)
+		}
+	}
+}
+
 func some(r *rand.Rand) [][]int {
 	n := r.Intn(8)
 	g := make([][]int, n)

@@ -247,7 +247,8 @@ func TestBuilder(t *testing.T) {
 	x, _ := b.Build(sample.Gav("g:b:1"))
 	y, _ := b.Build(sample.Gav("g:b:1"))
 	x.Props[0].Value, x.Managed[0].Excl[0].Group, x.Needs[0].Range.Parts[0].Lo.Version, x.Needs[0].Excl[0].Group = "?", "?", "?", "?"
-	if z, _ := b.Build(sample.Gav("g:b:1")); Same(x, y) || !Same(y, z) {
+	z, _ := b.Build(sample.Gav("g:b:1"))
+	if fresh := build(t, s, "g:b:1"); Same(x, y) || !Same(y, fresh) || !Same(z, fresh) {
 		t.Error("kept")
 	}
 	for i, change := range []func(m *api.Model){

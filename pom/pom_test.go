@@ -2,6 +2,7 @@ package pom
 
 import (
 	"math/rand"
+	"slices"
 	"strconv"
 	"strings"
 	"testing"
@@ -159,7 +160,11 @@ func TestLong(t *testing.T) {
 
 // P7.4: what may be a project.
 func TestMay(t *testing.T) {
-	for i, p := range []api.Pom{{Artifact: "a"}, fullPom(), {Artifact: "a", Managed: make([]api.Dep, 0)}, {Artifact: "a b\t\xff"}, {Artifact: "a", Deps: []api.Dep{{Artifact: "b", Scope: api.ScopeSystem}}}} {
+	var props []api.Prop
+	for i := range api.MaxList {
+		props = append(props, api.Prop{Name: "p" + strconv.Itoa(i), Value: strings.Repeat("x", 1024)})
+	}
+	for i, p := range []api.Pom{{Artifact: "a"}, fullPom(), {Artifact: strings.Repeat("x", 1024), Props: props}, {Artifact: "a", Managed: make([]api.Dep, 0)}, {Artifact: "a b\t\xff"}, {Artifact: "a", Deps: []api.Dep{{Artifact: "b", Scope: api.ScopeSystem}}}} {
 		if !May(p) {
 			t.Error("may", i)
 		}
@@ -174,7 +179,7 @@ func TestMay(t *testing.T) {
 		func(p *api.Pom) { p.HasParent = false }, func(p *api.Pom) { p.Parent = api.Gav{} }, func(p *api.Pom) { p.Parent.Version = "[1]" }, func(p *api.Pom) { p.Artifact = "" }, func(p *api.Pom) { p.Group = " g" },
 		func(p *api.Pom) { p.Version = "1\n" }, func(p *api.Pom) { p.Packaging = "\x00" }, func(p *api.Pom) { p.Artifact = long }, func(p *api.Pom) { p.Props[0].Name = "1" }, func(p *api.Pom) { p.Props[0].Name = "" },
 		func(p *api.Pom) { p.Props[1].Name = "p" }, func(p *api.Pom) { p.Props[1].Value = long }, func(p *api.Pom) { p.Props[1].Value = "x " }, func(p *api.Pom) { p.Props[1].Value = "\x01" },
-		func(p *api.Pom) { p.Props = make([]api.Prop, api.MaxList+1) }, func(p *api.Pom) { p.Managed[0].Artifact = "" }, func(p *api.Pom) { p.Managed[0].Scope = 7 }, func(p *api.Pom) { p.Managed[0].Scope = -1 },
+		func(p *api.Pom) { p.Props = append(slices.Clone(props), api.Prop{Name: "q"}) }, func(p *api.Pom) { p.Managed[0].Artifact = "" }, func(p *api.Pom) { p.Managed[0].Scope = 7 }, func(p *api.Pom) { p.Managed[0].Scope = -1 },
 		func(p *api.Pom) { p.Deps[0].Scope = api.ScopeImport }, func(p *api.Pom) { p.Deps[0].Optional = 3 }, func(p *api.Pom) { p.Deps[0].Optional = -1 }, func(p *api.Pom) { p.Deps[0].Excl[0].Group = "" },
 		func(p *api.Pom) { p.Deps[0].Excl[0].Artifact = "a*" }, func(p *api.Pom) { p.Deps[1].Type = " " }, func(p *api.Pom) { p.Deps[1].Version = long }, func(p *api.Pom) { p.Deps[1].Classifier = "\r" }, func(p *api.Pom) { p.Deps[1].Group = "\x02" },
 		func(p *api.Pom) {

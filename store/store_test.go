@@ -110,10 +110,10 @@ func TestPom(t *testing.T) {
 		t.Error("others count")
 	}
 	s = New()
-	s.Put(gav("g:a:1"), "<project><artifactId>a</artifactId><properties><p>1</p></properties><dependencies><dependency><artifactId>b</artifactId><exclusions><exclusion><groupId>*</groupId><artifactId>*</artifactId></exclusion></exclusions></dependency></dependencies></project>")
+	s.Put(gav("g:a:1"), "<project><artifactId>a</artifactId><properties><p>1</p></properties><dependencyManagement><dependencies><dependency><artifactId>b</artifactId></dependency></dependencies></dependencyManagement><dependencies><dependency><artifactId>b</artifactId><exclusions><exclusion><groupId>*</groupId><artifactId>*</artifactId></exclusion></exclusions></dependency></dependencies></project>")
 	p, _ := s.Pom(gav("g:a:1"))
-	p.Props[0].Value, p.Deps[0].Artifact, p.Deps[0].Excl[0].Group = "2", "c", "g"
-	if q, _ := s.Pom(gav("g:a:1")); q.Props[0].Value != "1" || q.Deps[0].Artifact != "b" || q.Deps[0].Excl[0].Group != "*" {
+	p.Props[0].Value, p.Deps[0].Artifact, p.Deps[0].Excl[0].Group, p.Managed[0].Artifact = "2", "c", "g", "c"
+	if q, _ := s.Pom(gav("g:a:1")); q.Props[0].Value != "1" || q.Managed[0].Artifact != "b" || q.Deps[0].Artifact != "b" || q.Deps[0].Excl[0].Group != "*" {
 		t.Error("kept")
 	}
 }

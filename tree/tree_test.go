@@ -87,6 +87,7 @@ func TestBuild(t *testing.T) {
 func TestBuildErrors(t *testing.T) {
 	deep := strings.Repeat("<a>", api.MaxDepth)
 	many := "<a>" + strings.Repeat("<b/>", api.MaxNodes-1)
+	texts := "<b/>" + strings.Repeat("x<b/>", api.MaxNodes/2-1)
 	for _, w := range []struct {
 		text string
 		e    api.Errno
@@ -97,6 +98,7 @@ func TestBuildErrors(t *testing.T) {
 		{"<a></b>", api.ErrTag, 3}, {"<a><b></a></b>", api.ErrTag, 6}, {"<a>", api.ErrEnd, 3}, {"<a><b/>\n", api.ErrEnd, 8},
 		{"<a></b><c", api.ErrEnd, 9}, {"<a/>x<", api.ErrEnd, 6}, {"x\x00", api.ErrByte, 1},
 		{deep + "<b/>", api.ErrBig, len(deep)}, {deep + "x<b>", api.ErrBig, len(deep) + 1}, {many + "<c/></a>", api.ErrBig, len(many)}, {many + "x</a>", api.ErrBig, len(many)},
+		{"<a>" + texts + "<b/>", api.ErrBig, len(texts) + 3}, {"<a>" + texts + "x</b>", api.ErrBig, len(texts) + 3},
 		{many + "<![CDATA[]]></b>", api.ErrTag, len(many) + 12}, {many + "</a><b/>", api.ErrRoot, len(many) + 4},
 		{strings.Repeat("x", api.MaxText+1), api.ErrBig, 0},
 	} {
@@ -148,8 +150,10 @@ func TestAsk(t *testing.T) {
 	if Text(n) != "xy" || Text(el("a")) != "" || Count(n) != 7 || Count(api.Node{}) != 1 {
 		t.Error(Text(n), Count(n))
 	}
+	n.Kids[4].Attrs = []api.Attr{{Name: "k", Value: "1"}}
 	Kids(n, "b")[0].Kids[0].Text = "z"
-	if n.Kids[1].Kids[0].Text != "no" {
+	Kids(n, "b")[1].Attrs[0].Value = "z"
+	if n.Kids[1].Kids[0].Text != "no" || n.Kids[4].Attrs[0].Value != "1" {
 		t.Error("shared")
 	}
 	for i, m := range []api.Node{el("a", n.Kids...), {Name: "a", Attrs: n.Attrs}, {Name: "b", Attrs: n.Attrs, Kids: n.Kids}, {Name: "a", Attrs: n.Attrs, Kids: n.Kids, Text: "x"},
