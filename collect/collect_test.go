@@ -260,3 +260,87 @@ func TestFollows(t *testing.T) {
 		}
 	}
 }
+
+// naive: P12.2 and P12.3 word by word: the nodes under one whose way from the root is known, by calls of itself.
+func naive(s *store.Store, b *model.Builder, way []api.Branch, needs []api.Need) [][]api.Branch {
+	root, _ := b.Build(Gav(way[0]))
+	manages := func(k api.Key) api.Dep {
+		for _, d := range root.Managed {
+			if (api.Key{Group: d.Group, Artifact: d.Artifact, Type: d.Type, Classifier: d.Classifier}) == k {
+				return d
+			}
+		}
+		return api.Dep{}
+	}
+	all := [][]api.Branch{way}
+	node := way[len(way)-1]
+	if node.Round {
+		return all
+	}
+	m, _ := b.Build(Gav(node))
+	for order, need := range m.Needs {
+		x := api.Branch{Depth: len(way), Order: order, Key: need.Key, Range: need.Range, Scope: need.Scope}
+		if len(way) > 1 {
+			managed := manages(need.Key)
+			if managed.Scope != api.NoScope {
+				x.Scope = managed.Scope
+			}
+			if managed.Version != "" {
+				x.Range, _ = bounds.Parse(managed.Version)
+			}
+			x.Scope = coord.Derive(node.Scope, x.Scope)
+			out := need.Optional || x.Scope == api.NoScope
+			for _, above := range needs {
+				for _, p := range above.Excl {
+					out = out || coord.Matches(p, api.Id{Group: need.Key.Group, Artifact: need.Key.Artifact})
+				}
+			}
+			if out {
+				continue
+			}
+		}
+		x.Version = x.Range.Version
+		if x.Range.Hard {
+			x.Version, _ = bounds.Pick(x.Range, s.Versions(api.Id{Group: need.Key.Group, Artifact: need.Key.Artifact}))
+		}
+		for _, above := range way {
+			x.Round = x.Round || above.Key.Group == x.Key.Group && above.Key.Artifact == x.Key.Artifact
+		}
+		all = append(all, naive(s, b, append(slices.Clone(way), x), append(slices.Clone(needs), need))...)
+	}
+	return all
+}
+
+// P12.1 to P12.3: the tree is what is said word by word, level by level.
+func TestAsSaid(t *testing.T) {
+	r := rand.New(rand.NewSource(49))
+	nodes := 0
+	for range 2000 {
+		s := someStore(t, r)
+		b := model.New(s)
+		l, problem := With(s, b, sample.Gav("g:a:1"))
+		if problem != (api.Problem{}) {
+			t.Fatal(problem)
+		}
+		want := naive(s, b, l[:1:1], nil)
+		slices.SortStableFunc(want, func(x, y []api.Branch) int { return len(x) - len(y) })
+		if len(want) != len(l) {
+			t.Fatal(told(l))
+		}
+		for i, way := range want {
+			x := way[len(way)-1]
+			x.Up = l[i].Up
+			var path []int
+			for _, above := range way[1:] {
+				path = append(path, above.Order)
+			}
+			if !Same([]api.Branch{x}, l[i:i+1]) || !slices.Equal(path, Path(l, i)) {
+				t.Fatal(told(l), i)
+			}
+		}
+		nodes += len(l)
+	}
+	if nodes < 5000 {
+		t.Error(nodes)
+	}
+}
