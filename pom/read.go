@@ -28,10 +28,7 @@ type spot struct {
 func Read(n api.Node) (p api.Pom, e api.Errno, where string) {
 	defer func() {
 		if wrong := recover(); wrong != nil {
-			f, ok := wrong.(fault)
-			if !ok {
-				panic(wrong)
-			}
+			f := caught(wrong)
 			p, e, where = api.Pom{}, f.err, f.where
 		}
 	}()
@@ -40,6 +37,15 @@ func Read(n api.Node) (p api.Pom, e api.Errno, where string) {
 		root.fail(api.ErrField)
 	}
 	return root.project(), api.OK, ""
+}
+
+// caught gives the fault that a panic was.
+func caught(wrong any) fault {
+	f, ok := wrong.(fault)
+	if !ok {
+		panic(wrong)
+	}
+	return f
 }
 
 // fail ends the reading with an error at the spot.
